@@ -1,0 +1,131 @@
+package mutants
+
+import (
+	"math/rand"
+	"slices"
+	"testing"
+
+	"countersign/api"
+	"countersign/audits"
+	"countersign/scripts"
+)
+
+func script(t *testing.T, flaw uint8) scripts.Script {
+	t.Helper()
+	s, e := Script(flaw)
+	if e != api.OK {
+		t.Fatal(flaw, e)
+	}
+	return s
+}
+
+func TestP44_1Script(t *testing.T) {
+	for flaw, n := range map[uint8]int{1: 8, 2: 7, 3: 8, 4: 3, 5: 7, 6: 8} {
+		s := script(t, flaw)
+		if scripts.Check(s) != api.OK || len(s.Events) != n || s.Config.Flaw != 0 || s.Config.Budget != 3 || cap(s.Events) != n {
+			t.Error(flaw, len(s.Events))
+		}
+	}
+	for _, flaw := range []uint8{0, 7, 255} {
+		if s, e := Script(flaw); e != api.ErrArg || s.Events != nil {
+			t.Error(flaw, e)
+		}
+	}
+	text, _ := scripts.Text(script(t, 4))
+	want := "config 5 2 1 1 3 0 0\nclient 1 1 6\nschema 5\nnamespace user {\n}\nnamespace doc {\n  relation viewer: [user];\n}\narrive 0 010000010103646f6301780676696577657204757365720161000000000000000000\narrive 0 02000000000103646f6301780676696577657204757365720161000000000000000000\ncollect 1\n"
+	if text != want {
+		t.Error(text)
+	}
+}
+
+func TestP44_2Tells(t *testing.T) {
+	for i, x := range []struct {
+		script, flaw uint8
+		at           int
+		rules        []audits.Rule
+		e            api.Errno
+	}{
+		{1, 1, 7, []audits.Rule{audits.Answer}, 0}, {2, 2, 6, []audits.Rule{audits.Answer}, 0}, {3, 3, 7, []audits.Rule{audits.Admit}, 0}, {4, 4, 2, []audits.Rule{audits.Pinned}, 0}, {4, 0, 0, nil, api.ErrNone}, {5, 5, 6, []audits.Rule{audits.Shed}, 0}, {6, 6, 7, []audits.Rule{audits.Order}, 0}, {4, 5, 0, nil, api.ErrNone}, {4, 7, 0, nil, api.ErrArg}, {4, 255, 0, nil, api.ErrArg},
+	} {
+		s := script(t, x.script)
+		s.Config.Flaw = 3
+		if at, rules, e := Tells(s, x.flaw); at != x.at || !slices.Equal(rules, x.rules) || e != x.e {
+			t.Error(i, at, rules, e)
+		}
+	}
+	if _, _, e := Tells(scripts.Script{}, 99); e != api.ErrConfig {
+		t.Error(e)
+	}
+}
+
+func TestP44_3MinimalSmaller(t *testing.T) {
+	s := script(t, 4)
+	more := s
+	more.Events = append([]api.Event{{Kind: api.Tick, N: 1}}, append(s.Events, works(0, 0)...)...)
+	more.Config.Flaw = 2
+	if ok, e := Minimal(more, 4); ok || e != api.OK {
+		t.Error(ok, e)
+	}
+	small, e := Smaller(more, 4)
+	if small.Config.Flaw != 2 || e != api.OK {
+		t.Error(e)
+	}
+	if small.Config.Flaw = 0; !scripts.Same(small, s) {
+		t.Error(small.Events)
+	}
+	for i, x := range []struct {
+		s    scripts.Script
+		flaw uint8
+		e    api.Errno
+	}{{scripts.Script{}, 9, api.ErrConfig}, {s, 9, api.ErrArg}, {s, 0, api.ErrNone}, {s, 5, api.ErrNone}} {
+		ok, e1 := Minimal(x.s, x.flaw)
+		small, e2 := Smaller(x.s, x.flaw)
+		if ok || e1 != x.e || e2 != x.e || small.Events != nil {
+			t.Error(i, e1, e2)
+		}
+	}
+}
+
+func TestP44_4Caught(t *testing.T) {
+	for flaw, want := range map[uint8][]uint8{4: {4}, 5: {5}} {
+		if l, e := Caught(script(t, flaw)); !slices.Equal(l, want) || e != api.OK || cap(l) != len(l) {
+			t.Error(flaw, l, e)
+		}
+	}
+	if l, e := Caught(scripts.Script{}); l != nil || e != api.ErrConfig {
+		t.Error(e)
+	}
+	s := script(t, 4)
+	s.Events = nil
+	if l, e := Caught(s); len(l) != 0 || e != api.OK {
+		t.Error(l, e)
+	}
+}
+
+func TestP44_5Consequences(t *testing.T) {
+	r := rand.New(rand.NewSource(1))
+	for flaw := uint8(1); flaw <= Flaws; flaw++ {
+		s := script(t, flaw)
+		l, _ := Caught(s)
+		if !slices.Contains(l, flaw) || slices.Contains(l, 0) {
+			t.Error(flaw, l)
+		}
+		for range 6 {
+			more := s
+			more.Events = slices.Clone(s.Events)
+			for range 4 {
+				x := append(works(r.Intn(2)), arrivals(ask([]string{"a", "b"}[r.Intn(2)], uint8(r.Intn(2))), write())...)[r.Intn(3)]
+				more.Events = slices.Insert(more.Events, r.Intn(len(more.Events)+1), x)
+			}
+			small, e := Smaller(more, flaw)
+			if e == api.ErrNone {
+				continue
+			}
+			ok, e2 := Minimal(small, flaw)
+			again, _ := Smaller(small, flaw)
+			if e != api.OK || !ok || e2 != api.OK || !tells(small, flaw) || tells(small, 0) || !scripts.Same(again, small) {
+				t.Fatal(flaw, e, ok, e2)
+			}
+		}
+	}
+}
