@@ -8,6 +8,7 @@ import (
 	"testing"
 
 	"countersign/api"
+	"countersign/leaves"
 	"countersign/models"
 	"countersign/names"
 	"countersign/parsers"
@@ -167,16 +168,16 @@ func TestP22_5Consequences(t *testing.T) {
 		for range r.Intn(14) {
 			l = append(l, all[r.Intn(len(all))])
 		}
-		w, _ := of(s, l)
+		w, _ := leaves.New(s, l)
 		for _, q := range []api.Query{check(t, "doc:a#v", "a"), expand(t, "doc:a#v")} {
 			x, e := Of(s, l, q)
 			bound, _ := Bound(s, l, q)
 			if e != api.OK || x.Cost < 2 || x.Cost > bound {
 				t.Fatal(x, bound, e)
 			}
-			entries, _ := w.search(q.Goal)
+			entries, _ := search(w, q.Goal)
 			var last [][]api.Object
-			passes(entries, w.levels(entries), func(x entry, values [][]api.Object) ([]api.Object, api.Errno) {
+			passes(entries, levels(w, entries), func(x entry, values [][]api.Object) ([]api.Object, api.Errno) {
 				last = values
 				return users(x, values)
 			}, slices.Equal[[]api.Object])

@@ -1,0 +1,26 @@
+package copies
+
+import (
+	"reflect"
+	"testing"
+
+	"countersign/api"
+	"countersign/parsers"
+)
+
+func TestSchema(t *testing.T) {
+	read := func() api.Schema {
+		s, _, _ := parsers.Parse("namespace user {} namespace doc { relation a: [user] = (this | b) - b; relation b: [user]; }")
+		return s
+	}
+	s := read()
+	c := Schema(s)
+	if !reflect.DeepEqual(s, c) || !reflect.DeepEqual(Schema(api.Schema{}), api.Schema{}) {
+		t.Error("not equal")
+	}
+	c.Spaces[0].Name, c.Spaces[1].Relations[0].Name = "x", "x"
+	c.Spaces[1].Relations[0].Types[0].Space, c.Spaces[1].Relations[0].Rule.Args[0].Args[1].Rel = "x", "x"
+	if !reflect.DeepEqual(s, read()) {
+		t.Error("shared")
+	}
+}
