@@ -48,6 +48,15 @@ func sample(t *testing.T) Table {
 	return x
 }
 
+// twin returns an equal table in new memory.
+func twin(x Table) Table {
+	x.Flights = slices.Clone(x.Flights)
+	for i, f := range x.Flights {
+		x.Flights[i].Items = slices.Clone(f.Items)
+	}
+	return x
+}
+
 func TestP39_1Check(t *testing.T) {
 	if Check(Table{}) != api.OK || Check(sample(t)) != api.OK {
 		t.Error("valid tables")
@@ -62,7 +71,7 @@ func TestP39_1Check(t *testing.T) {
 		{func(x *Table) { x.Flights[1].Items[0].Item = 8 }, api.ErrRange}, {func(x *Table) { x.Flights[1].Items[0].Rev = 0 }, api.ErrRange}, {func(x *Table) { x.Flights[1].Items[0].Rev = 9 }, 0}, {func(x *Table) { x.Flights[0].Items[1].Class = 8 }, api.ErrRange}, {func(x *Table) { x.Flights[0].Items[1].Client = 16 }, api.ErrRange}, {func(x *Table) { x.Flights[0].Client = 3 }, api.ErrRange}, {func(x *Table) { x.Flights[0].Class = 2 }, api.ErrRange}, {func(x *Table) { x.Flights[0].Class = 0 }, api.ErrRange},
 		{func(x *Table) { x.Flights[1].Rev = 1 }, api.ErrTwice}, {func(x *Table) { x.Flights[0].Items = nil; x.Flights[1].ID = 0 }, api.ErrEmpty},
 	} {
-		x := clone(sample(t))
+		x := twin(sample(t))
 		c.change(&x)
 		if e := Check(x); e != c.e {
 			t.Error(i, e)
@@ -150,7 +159,7 @@ func TestP39_3FindCommitLand(t *testing.T) {
 		version, spent, steps int
 		e                     api.Errno
 	}{{0, 0, -1, api.ErrRange}, {1 << 20, 0, 0, api.ErrRange}, {1<<20 - 1, 0, 0, 0}, {0, 1 << 20, 1, api.ErrRange}, {0, 1, 1<<20 - 1, 0}, {0, 1, 1 << 20, api.ErrRange}, {0, 1, 1<<63 - 1, api.ErrRange}} {
-		x := clone(sample(t))
+		x := twin(sample(t))
 		x.Flights[1].Version, x.Flights[1].Spent = c.version, c.spent
 		if y, e := Commit(x, 1, c.steps); e != c.e || e != api.OK && y.Flights != nil {
 			t.Error(i, e)
@@ -207,7 +216,7 @@ func TestP39_5FanSame(t *testing.T) {
 	for i, change := range []func(x *Table){
 		func(x *Table) { x.Next++ }, func(x *Table) { x.Flights = x.Flights[1:] }, func(x *Table) { x.Flights[0].ID++ }, func(x *Table) { x.Flights[0].Rev++ }, func(x *Table) { x.Flights[0].Query.Kind++ }, func(x *Table) { x.Flights[0].Client++ }, func(x *Table) { x.Flights[0].Class++ }, func(x *Table) { x.Flights[0].Since++ }, func(x *Table) { x.Flights[0].Version++ }, func(x *Table) { x.Flights[0].Spent++ }, func(x *Table) { x.Flights[0].Items[1].Ticket++ },
 	} {
-		y := clone(x)
+		y := twin(x)
 		if !Same(x, y) {
 			t.Error(i)
 		}

@@ -28,11 +28,13 @@ func sample(t *testing.T) Graph {
 }
 
 func random(r *rand.Rand, n int) Graph {
-	var l []Edge
-	for range r.Intn(3 * n) {
-		l = append(l, Edge{r.Intn(n), r.Intn(n), r.Intn(3) == 0})
+	g := Graph{N: n}
+	for i := range n * n * 2 {
+		if r.Intn(n) == 0 {
+			g.Edges = append(g.Edges, Edge{i / 2 / n, i / 2 % n, i%2 == 1})
+		}
 	}
-	return Graph{n, ordered(l)}
+	return g
 }
 
 func TestP16_1Check(t *testing.T) {
@@ -141,7 +143,7 @@ func TestP16_6Consequences(t *testing.T) {
 		for a := range g.N {
 			in, _ := In(g, a)
 			out, _ := Out(turn, a)
-			if x := turned(Graph{g.N, out}); !slices.Equal(x.Edges, in) {
+			if x, _ := Turned(Graph{g.N, out}); !slices.Equal(x.Edges, in) {
 				t.Fatal("In")
 			}
 			reach, _ := Reach(g, a)

@@ -61,7 +61,8 @@ func TestP44_2Tells(t *testing.T) {
 func TestP44_3MinimalSmaller(t *testing.T) {
 	s := script(t, 4)
 	more := s
-	more.Events = append([]api.Event{{Kind: api.Tick, N: 1}}, append(s.Events, works(0, 0)...)...)
+	work := api.Event{Kind: api.Work}
+	more.Events = append([]api.Event{{Kind: api.Tick, N: 1}}, append(s.Events, work, work)...)
 	more.Config.Flaw = 2
 	if ok, e := Minimal(more, 4); ok || e != api.OK {
 		t.Error(ok, e)
@@ -114,7 +115,7 @@ func TestP44_5Consequences(t *testing.T) {
 			more := s
 			more.Events = slices.Clone(s.Events)
 			for range 4 {
-				x := append(works(r.Intn(2)), arrivals(ask([]string{"a", "b"}[r.Intn(2)], uint8(r.Intn(2))), write())...)[r.Intn(3)]
+				x := append(slices.Clone(script(t, 6).Events[:4]), script(t, 4).Events[1], api.Event{Kind: api.Work, Lane: 1})[r.Intn(6)]
 				more.Events = slices.Insert(more.Events, r.Intn(len(more.Events)+1), x)
 			}
 			small, e := Smaller(more, flaw)
@@ -123,7 +124,9 @@ func TestP44_5Consequences(t *testing.T) {
 			}
 			ok, e2 := Minimal(small, flaw)
 			again, _ := Smaller(small, flaw)
-			if e != api.OK || !ok || e2 != api.OK || !tells(small, flaw) || tells(small, 0) || !scripts.Same(again, small) {
+			_, _, told := Tells(small, flaw)
+			_, _, none := Tells(small, 0)
+			if e != api.OK || !ok || e2 != api.OK || told != api.OK || none != api.ErrNone || !scripts.Same(again, small) {
 				t.Fatal(flaw, e, ok, e2)
 			}
 		}

@@ -107,11 +107,19 @@ func TestP9_4Same(t *testing.T) {
 	}
 }
 
+// counts returns how often the first revisions are pinned.
+func counts(p Pins) (out []int) {
+	for rev := range uint64(12) {
+		out = append(out, p.Count(rev))
+	}
+	return out
+}
+
 func TestP9_5Consequences(t *testing.T) {
 	r := rand.New(rand.NewSource(1))
 	var p Pins
 	for range 500 {
-		old, rev, n := slices.Clone(p.list), uint64(r.Intn(9)+1), r.Intn(4)
+		old, rev, n := counts(p), uint64(r.Intn(9)+1), r.Intn(4)
 		q, _ := p.Pin(rev)
 		if back, _ := q.Unpin(rev); !Same(back, p) {
 			t.Fatal("Unpin")
@@ -128,7 +136,7 @@ func TestP9_5Consequences(t *testing.T) {
 		if !Same(more, again) || sum != more.Total() {
 			t.Fatal("More")
 		}
-		if !slices.Equal(p.list, old) {
+		if !slices.Equal(counts(p), old) {
 			t.Fatal("changed")
 		}
 		p = more

@@ -91,6 +91,12 @@ func same(a, b State[bool]) bool {
 	return reflect.DeepEqual(a, b)
 }
 
+// twin returns an equal state with lists of its own.
+func twin(s State[bool]) State[bool] {
+	s.Values, s.Ranks = slices.Clone(s.Values), slices.Clone(s.Ranks)
+	return s
+}
+
 func TestP26_1LevelsNewCheck(t *testing.T) {
 	w := world(t, facts)
 	x := table(t, w, "doc:x#viewer")
@@ -124,7 +130,7 @@ func TestP26_1LevelsNewCheck(t *testing.T) {
 		{func(s *State[bool]) { s.Level, s.Changed = 2, true }, api.ErrState}, {func(s *State[bool]) { s.Level, s.At = 2, 1 }, api.ErrState}, {func(s *State[bool]) { s.At = 4 }, api.ErrState}, {func(s *State[bool]) { s.At, s.Changed = 3, true }, 0}, {func(s *State[bool]) { s.At = -1 }, api.ErrState},
 		{func(s *State[bool]) { s.Level, s.At = 1, 1 }, api.ErrState}, {func(s *State[bool]) { s.Steps = -1 }, api.ErrState}, {func(s *State[bool]) { s.Steps = 1<<62 + 1 }, api.ErrState}, {func(s *State[bool]) { s.Ranks[1] = 1 }, api.ErrState}, {func(s *State[bool]) { s.Ranks[1], s.Steps = 1, 1 }, 0}, {func(s *State[bool]) { s.Ranks[1] = -1 }, api.ErrState},
 	} {
-		x := clone(s)
+		x := twin(s)
 		c.change(&x)
 		if e := Check(w, x); e != c.e {
 			t.Error(i, e)

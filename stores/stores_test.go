@@ -167,14 +167,30 @@ func TestP10_5Collect(t *testing.T) {
 	}
 }
 
+// made returns a store whose revisions from 1 on have a tuple, or none.
+func made(ids ...string) *Store {
+	var revs []uint64
+	var l []sets.Set
+	for i, id := range ids {
+		revs = append(revs, uint64(i+1))
+		if id == "" {
+			l = append(l, set())
+		} else {
+			l = append(l, set(id))
+		}
+	}
+	s, _ := Make(revs, l, pins.Pins{})
+	return s
+}
+
 func TestP10_6CopySame(t *testing.T) {
 	s := sample(t)
 	c := s.Copy()
-	if !Same(s, c) || !Same(c, s) {
+	if !Same(s, c) || !Same(c, s) || !Same(s, made("", "a", "b")) {
 		t.Error("Copy")
 	}
 	for i, change := range []func(s *Store){
-		func(s *Store) { s.Pin(1) }, func(s *Store) { s.Collect(1) }, func(s *Store) { s.Write(nil, nil) }, func(s *Store) { s.sets[2] = set("c") }, func(s *Store) { s.sets[1], s.sets[2] = s.sets[2], s.sets[1] },
+		func(s *Store) { s.Pin(1) }, func(s *Store) { s.Collect(1) }, func(s *Store) { s.Write(nil, nil) }, func(s *Store) { s.Pin(3) }, func(s *Store) { *s = *made("", "c", "b") }, func(s *Store) { *s = *made("a", "", "b") }, func(s *Store) { *s = *made("", "a") },
 	} {
 		other := s.Copy()
 		change(other)

@@ -71,6 +71,19 @@ func expand(t *testing.T, g string) api.Query {
 	return api.Query{Kind: api.Expand, Goal: goal(t, g)}
 }
 
+// list returns a copy of a list, nil for an empty one.
+func list[T any](l []T) []T { return append([]T(nil), l...) }
+
+// twin returns an equal traversal with lists of its own.
+func twin(x Traversal) Traversal {
+	x.Truth.Values, x.Truth.Ranks = list(x.Truth.Values), list(x.Truth.Ranks)
+	x.Sweep.Values, x.Sweep.Ranks = list(x.Sweep.Values), list(x.Sweep.Ranks)
+	for i, set := range x.Sweep.Values {
+		x.Sweep.Values[i] = list(set)
+	}
+	return x
+}
+
 // same reports whether two traversals are equal.
 func same(a, b Traversal) bool {
 	tables := func(x Traversal) [][]api.Goal {
@@ -78,7 +91,7 @@ func same(a, b Traversal) bool {
 	}
 	equal := reflect.DeepEqual(tables(a), tables(b))
 	for _, x := range []*Traversal{&a, &b} {
-		*x = clone(*x)
+		*x = twin(*x)
 		x.Search.Table, x.Truth.Table, x.Sweep.Table = goals.Table{}, goals.Table{}, goals.Table{}
 	}
 	return equal && reflect.DeepEqual(a, b)
@@ -147,7 +160,7 @@ func TestP28_2CheckStep(t *testing.T) {
 		}, api.ErrState},
 		{end, func(x *Traversal) { *x = Traversal{} }, api.ErrKind}, {end, func(x *Traversal) { x.Search = explores.State{} }, api.ErrState},
 	} {
-		y := clone(c.x)
+		y := twin(c.x)
 		c.change(&y)
 		if e := Check(w, y); e != c.e {
 			t.Error(i, e)

@@ -22,16 +22,13 @@ func keys[V any](l []Pair[int, V]) []int {
 	return out
 }
 
-// checked fails if a tree is not balanced, or sizes and depths are wrong.
-func checked[K, V any](t *testing.T, n *node[K, V]) {
-	if n == nil {
-		return
+// balanced reports whether a tree with a depth may have so few nodes.
+func balanced(depth, n int) bool {
+	least, next := 0, 1
+	for range depth {
+		least, next = next, least+next+1
 	}
-	checked(t, n.left)
-	checked(t, n.right)
-	if d := depth(n.left) - depth(n.right); d < -1 || d > 1 || n.size != size(n.left)+size(n.right)+1 || n.depth != max(depth(n.left), depth(n.right))+1 {
-		t.Fatal("not balanced")
-	}
+	return least <= n
 }
 
 func TestP5_1NewPutDrop(t *testing.T) {
@@ -125,7 +122,9 @@ func TestP5_5Consequences(t *testing.T) {
 			delete(want, k)
 		}
 		olds, lens = append(olds, m), append(lens, len(want))
-		checked(t, m.root)
+		if !balanced(m.Depth(), m.Len()) {
+			t.Fatal("not balanced")
+		}
 	}
 	for i, old := range olds {
 		if len(old.All()) != lens[i] {

@@ -154,14 +154,6 @@ func TestP36_5Fair(t *testing.T) {
 			t.Error(i, e)
 		}
 	}
-	both := lists(2, "01", "01", "01", "01", "01", "01")
-	if fair(1, 1, 0, 1, both, []int{0, 0, 0, 1, 1, 1}) || !fair(1, 1, 0, 1, both, []int{0, 0, 1, 1, 0, 1}) || !fair(3, 3, 0, 1, both, []int{0, 0, 0, 1, 1, 1}) {
-		t.Error("stretches")
-	}
-	both[2][1] = false
-	if !fair(1, 1, 0, 1, both, []int{0, 0, 0, 1, 1, 1}) {
-		t.Error("a stretch ends where a client is not able")
-	}
 }
 
 func TestP36_6Consequences(t *testing.T) {
