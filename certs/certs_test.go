@@ -94,7 +94,7 @@ func TestP32_1Of(t *testing.T) {
 		q api.Query
 		e api.Errno
 	}{{w, api.Query{Kind: api.Expand, Goal: goal(t, "doc:x#viewer")}, api.ErrArg}, {w, api.Query{Kind: api.Expand}, api.ErrName}, {w, api.Query{}, api.ErrKind}, {refs.World{}, api.Query{}, api.ErrNil}} {
-		if c, e := Of(x.w, x.q); e != x.e || c.Lines != nil {
+		if c, e := Of(x.w, x.q); e != x.e || len(c.Lines) != 0 {
 			t.Error(i, e)
 		}
 		if at, e := Holds(x.w, x.q, Cert{}); e != x.e || at != 0 {
@@ -169,7 +169,7 @@ func TestP32_4Short(t *testing.T) {
 		c Cert
 		e api.Errno
 	}{{refs.World{}, Cert{}, api.ErrNil}, {w, Cert{}, api.ErrLimit}, {w, bad, api.ErrArg}, {w, odd, api.ErrName}, {w, Cert{c.User, c.Lines[:2]}, api.ErrNone}} {
-		if s, e := Short(x.w, x.c); e != x.e || s.Lines != nil {
+		if s, e := Short(x.w, x.c); e != x.e || len(s.Lines) != 0 {
 			t.Error(i, e)
 		}
 	}

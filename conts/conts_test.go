@@ -102,12 +102,12 @@ func coded(l ...any) []byte {
 func TestP29_1OfCheck(t *testing.T) {
 	w := world(t, facts)
 	c := Of(after(t, w, check(t, "doc:x#viewer", "a"), 9))
-	if c.Steps != 9 || len(c.Goals) != 5 || c.At != 5 || !c.Solving || len(c.Truths) != 5 || len(c.Ranks) != 5 || c.Sets != nil || Check(c) != api.OK {
+	if c.Steps != 9 || len(c.Goals) != 5 || c.At != 5 || !c.Solving || len(c.Truths) != 5 || len(c.Ranks) != 5 || len(c.Sets) != 0 || Check(c) != api.OK {
 		t.Error(c)
 	}
 	x := after(t, w, expand(t, "doc:x#viewer"), 19)
 	c = Of(x)
-	if !c.Over || len(c.Sets) != 5 || c.Truths != nil || len(c.Sets[0]) != 2 || c.Level != 2 || Check(c) != api.OK {
+	if !c.Over || len(c.Sets) != 5 || len(c.Truths) != 0 || len(c.Sets[0]) != 2 || c.Level != 2 || Check(c) != api.OK {
 		t.Error(c)
 	}
 	if c.Sets[0][0].ID = "q"; x.Sweep.Values[0][0].ID != "a" {
@@ -115,7 +115,7 @@ func TestP29_1OfCheck(t *testing.T) {
 	}
 	odd := after(t, w, check(t, "doc:x#viewer", "a"), 3)
 	odd.Truth.Level, odd.Over, odd.Truth.Values = 4, true, []bool{true}
-	if c := Of(odd); c.Solving || c.Level != 0 || c.Over || c.Truths != nil {
+	if c := Of(odd); c.Solving || c.Level != 0 || c.Over || len(c.Truths) != 0 {
 		t.Error("a search that is not done")
 	}
 	long := strings.Repeat("x", 17)
@@ -127,7 +127,7 @@ func TestP29_1OfCheck(t *testing.T) {
 		if change(&c); (Check(c) == api.OK) != (i == 0) {
 			t.Error(i)
 		}
-		if b, e := Bytes(c); i > 0 && (e != api.ErrForm || b != nil) {
+		if b, e := Bytes(c); i > 0 && (e != api.ErrForm || len(b) != 0) {
 			t.Error(i, e)
 		}
 	}
@@ -216,7 +216,7 @@ func TestP29_4Go(t *testing.T) {
 		k int
 		e api.Errno
 	}{{w, b[:5], -1, api.ErrShort}, {w, wrong, -1, api.ErrState}, {w, b, -1, api.ErrArg}, {refs.World{}, b, 1, api.ErrNil}, {refs.World{}, nil, 1, api.ErrShort}} {
-		if out, n, e := Go(x.w, x.b, x.k); e != x.e || out != nil || n != 0 {
+		if out, n, e := Go(x.w, x.b, x.k); e != x.e || len(out) != 0 || n != 0 {
 			t.Error(i, e)
 		}
 	}

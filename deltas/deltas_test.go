@@ -59,7 +59,7 @@ func TestP7_2NormalCompose(t *testing.T) {
 	if e != api.OK || !slices.Equal(n, changes("+a", "+b", "-c")) || !slices.Equal(l, old) || cap(n) != len(n) {
 		t.Error(n, e)
 	}
-	if n, e := Normal([]api.Change{{}}); e != api.ErrName || n != nil {
+	if n, e := Normal([]api.Change{{}}); e != api.ErrName || len(n) != 0 {
 		t.Error(e)
 	}
 	c, e := Compose(changes("+a", "-b"), changes("+b", "-c"))
@@ -110,7 +110,7 @@ func TestP7_4Invert(t *testing.T) {
 	if l, _ := Invert(set("a"), changes("+b", "-a")); !slices.Equal(l, changes("+a", "-b")) || cap(l) != len(l) {
 		t.Error(l)
 	}
-	if l, e := Invert(set(), append(changes("+a"), api.Change{})); e != api.ErrName || l != nil {
+	if l, e := Invert(set(), append(changes("+a"), api.Change{})); e != api.ErrName || len(l) != 0 {
 		t.Error(e)
 	}
 	full, _ := Apply(set(), many("+", 0, 4096))

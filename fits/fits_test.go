@@ -76,7 +76,7 @@ func TestP20_2AllSplit(t *testing.T) {
 	bad := parsed(t, "namespace a { relation b; }")
 	at, e1 := All(bad, l)
 	fit, rest, e2 := Split(bad, l)
-	if at != 0 || e1 != api.ErrType || e2 != api.ErrType || fit != nil || rest != nil {
+	if at != 0 || e1 != api.ErrType || e2 != api.ErrType || len(fit) != 0 || len(rest) != 0 {
 		t.Error("a schema that is not valid")
 	}
 }
@@ -101,7 +101,7 @@ func TestP20_4Goals(t *testing.T) {
 	if text := texts(g, names.GoalText); e != api.OK || text != "doc:a#p doc:a#v doc:b#p doc:b#v" || cap(g) != 4 {
 		t.Error(text, e)
 	}
-	if g, e := Goals(parsed(t, "namespace a { relation b; }"), l); e != api.ErrType || g != nil {
+	if g, e := Goals(parsed(t, "namespace a { relation b; }"), l); e != api.ErrType || len(g) != 0 {
 		t.Error(e)
 	}
 }

@@ -121,7 +121,7 @@ func TestP39_2Join(t *testing.T) {
 		{first, a, 1, ok, 4, api.ErrRange}, {first, api.Query{}, 0, Item{}, 4, api.ErrKind}, {first, api.Query{Kind: 1}, 1, ok, 5, api.ErrName}, {first, api.Query{Kind: 2, Goal: a.Goal, User: a.User}, 1, ok, 5, api.ErrForm}, {first, a, 0, ok, 5, api.ErrRange}, {first, a, 1, Item{}, 5, api.ErrRange}, {Table{}, a, 1, ok, -1, api.ErrRange}, {Table{}, a, 1, ok, 1<<62 + 1, api.ErrRange},
 		{full, a, 1, ok, 5, 0}, {full, a, 3, ok, 5, api.ErrLimit},
 	} {
-		if x, id, made, e := Join(c.x, c.q, c.rev, c.item, c.round, false); e != c.e || e != api.OK && (id != 0 || made || x.Flights != nil) {
+		if x, id, made, e := Join(c.x, c.q, c.rev, c.item, c.round, false); e != c.e || e != api.OK && (id != 0 || made || len(x.Flights) != 0) {
 			t.Error(i, e)
 		}
 	}
@@ -161,7 +161,7 @@ func TestP39_3FindCommitLand(t *testing.T) {
 	}{{0, 0, -1, api.ErrRange}, {1 << 20, 0, 0, api.ErrRange}, {1<<20 - 1, 0, 0, 0}, {0, 1 << 20, 1, api.ErrRange}, {0, 1, 1<<20 - 1, 0}, {0, 1, 1 << 20, api.ErrRange}, {0, 1, 1<<63 - 1, api.ErrRange}} {
 		x := twin(sample(t))
 		x.Flights[1].Version, x.Flights[1].Spent = c.version, c.spent
-		if y, e := Commit(x, 1, c.steps); e != c.e || e != api.OK && y.Flights != nil {
+		if y, e := Commit(x, 1, c.steps); e != c.e || e != api.OK && len(y.Flights) != 0 {
 			t.Error(i, e)
 		}
 	}

@@ -106,7 +106,7 @@ func TestP16_4ReachPath(t *testing.T) {
 	if l, e := Path(g, 1, 2); e != api.OK || !slices.Equal(l, []int{1, 2}) {
 		t.Error(l, e)
 	}
-	if l, e := Path(g, 2, 1); e != api.ErrNone || l != nil {
+	if l, e := Path(g, 2, 1); e != api.ErrNone || len(l) != 0 {
 		t.Error(l, e)
 	}
 	if l, _ := Path(g, 0, 0); !slices.Equal(l, []int{0}) {

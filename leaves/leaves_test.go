@@ -66,7 +66,7 @@ func TestTogether(t *testing.T) {
 	if l := Together(x, []api.Object{a}, nil); !slices.Equal(l, []api.Object{a, b}) || cap(l) != 2 || x[0] != b {
 		t.Error(l)
 	}
-	if Together() != nil || len(Together(nil, nil)) != 0 {
+	if len(Together()) != 0 || len(Together(nil, nil)) != 0 {
 		t.Error("no objects")
 	}
 }

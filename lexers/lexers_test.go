@@ -40,7 +40,7 @@ func TestP12_1Lex(t *testing.T) {
 		{"a- >b", 3, api.ErrForm}, {"aB", 1, api.ErrForm}, {"0123456789abcdefg", 0, api.ErrName}, {" ;\x00", 2, api.ErrForm}, {"a\v", 1, api.ErrForm}, {"aé", 1, api.ErrForm},
 		{strings.Repeat(" ", 1<<20+1), 0, api.ErrLimit}, {many + "  b", len(many) + 2, api.ErrLimit}, {many + "B", len(many), api.ErrForm}, {many + "0123456789abcdefg", len(many), api.ErrName},
 	} {
-		if l, at, e := Lex(x.s); at != x.at || e != x.e || l != nil {
+		if l, at, e := Lex(x.s); at != x.at || e != x.e || len(l) != 0 {
 			t.Error(i, at, e)
 		}
 	}

@@ -98,7 +98,7 @@ func TestP8_4Write(t *testing.T) {
 		{musts("?b"), changes("+b"), api.ErrMust}, {make([]api.Must, 33), bad, api.ErrLimit}, {[]api.Must{{}}, make([]api.Change, 33), api.ErrName},
 		{musts("?b"), bad, api.ErrName}, {musts("?b"), make([]api.Change, 33), api.ErrLimit},
 	} {
-		if out, made, e := Write(s, x.l, x.c); e != x.e || out.Len() != 0 || made != nil {
+		if out, made, e := Write(s, x.l, x.c); e != x.e || out.Len() != 0 || len(made) != 0 {
 			t.Error(i, e)
 		}
 	}
@@ -110,7 +110,7 @@ func TestP8_4Write(t *testing.T) {
 	if _, _, e := Write(full, musts("?a"), changes("+a")); e != api.ErrMust {
 		t.Error("ErrMust comes first")
 	}
-	if out, made, e := Write(full, nil, changes("-0", "+a", "+b")); e != api.ErrLimit || out.Len() != 0 || made != nil {
+	if out, made, e := Write(full, nil, changes("-0", "+a", "+b")); e != api.ErrLimit || out.Len() != 0 || len(made) != 0 {
 		t.Error(e)
 	}
 	if _, _, e := Write(full, nil, changes("-0", "+a", "-1", "+b")); e != api.OK {
@@ -120,7 +120,7 @@ func TestP8_4Write(t *testing.T) {
 
 func TestP8_5Consequences(t *testing.T) {
 	s := set("a", "b")
-	if out, made, e := Write(s, nil, nil); e != api.OK || !sets.Same(out, s) || made != nil {
+	if out, made, e := Write(s, nil, nil); e != api.OK || !sets.Same(out, s) || len(made) != 0 {
 		t.Error("an empty write")
 	}
 	l, c := musts("?a", "!c"), changes("-a", "+c")

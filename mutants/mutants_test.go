@@ -27,7 +27,7 @@ func TestP44_1Script(t *testing.T) {
 		}
 	}
 	for _, flaw := range []uint8{0, 7, 255} {
-		if s, e := Script(flaw); e != api.ErrArg || s.Events != nil {
+		if s, e := Script(flaw); e != api.ErrArg || len(s.Events) != 0 {
 			t.Error(flaw, e)
 		}
 	}
@@ -81,7 +81,7 @@ func TestP44_3MinimalSmaller(t *testing.T) {
 	}{{scripts.Script{}, 9, api.ErrConfig}, {s, 9, api.ErrArg}, {s, 0, api.ErrNone}, {s, 5, api.ErrNone}} {
 		ok, e1 := Minimal(x.s, x.flaw)
 		small, e2 := Smaller(x.s, x.flaw)
-		if ok || e1 != x.e || e2 != x.e || small.Events != nil {
+		if ok || e1 != x.e || e2 != x.e || len(small.Events) != 0 {
 			t.Error(i, e1, e2)
 		}
 	}
@@ -93,7 +93,7 @@ func TestP44_4Caught(t *testing.T) {
 			t.Error(flaw, l, e)
 		}
 	}
-	if l, e := Caught(scripts.Script{}); l != nil || e != api.ErrConfig {
+	if l, e := Caught(scripts.Script{}); len(l) != 0 || e != api.ErrConfig {
 		t.Error(e)
 	}
 	s := script(t, 4)

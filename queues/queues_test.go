@@ -46,7 +46,7 @@ func TestP35_2AddDropLower(t *testing.T) {
 		x Entry
 		e api.Errno
 	}{{Entry{8, 0, 4}, api.ErrOrder}, {Entry{9, 0, 3}, api.ErrOrder}, {Entry{9, 8, 4}, api.ErrRange}} {
-		if a, e := Add(q, x.x); e != x.e || a.Entries != nil {
+		if a, e := Add(q, x.x); e != x.e || len(a.Entries) != 0 {
 			t.Error(i, e)
 		}
 	}

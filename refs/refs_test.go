@@ -168,7 +168,7 @@ func TestP24_4HoldsUsers(t *testing.T) {
 		t.Error(e)
 	}
 	for _, bad := range []string{"ba", "aa"} {
-		if l, e := w.Users(g, [][]api.Object{nil, nil, nil, users(bad)}); e != api.ErrOrder || l != nil {
+		if l, e := w.Users(g, [][]api.Object{nil, nil, nil, users(bad)}); e != api.ErrOrder || len(l) != 0 {
 			t.Error(e)
 		}
 	}

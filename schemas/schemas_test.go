@@ -100,7 +100,7 @@ func TestP15_3Targets(t *testing.T) {
 		t.Error(l, e)
 	}
 	for _, k := range [][3]string{{"doc", "view", "view"}, {"doc", "parent", "x"}} {
-		if l, e := Targets(s, k[0], k[1], k[2]); e != api.ErrType || l != nil {
+		if l, e := Targets(s, k[0], k[1], k[2]); e != api.ErrType || len(l) != 0 {
 			t.Error(k, e)
 		}
 	}

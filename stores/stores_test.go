@@ -65,7 +65,7 @@ func TestP10_1NewNewestKept(t *testing.T) {
 		t.Error(s.Kept())
 	}
 	for _, none := range []*Store{nil, {}} {
-		if none.Newest() != 0 || none.Kept() != nil || none.Copy() != nil || none.Pins().Total() != 0 {
+		if none.Newest() != 0 || len(none.Kept()) != 0 || none.Copy() != nil || none.Pins().Total() != 0 {
 			t.Error("no store")
 		}
 		_, e1 := none.At(0)
@@ -158,7 +158,7 @@ func TestP10_5Collect(t *testing.T) {
 		t.Error(gone)
 	}
 	for _, keep := range []int{0, -1, 1025} {
-		if gone, e := s.Collect(keep); e != api.ErrRange || gone != nil {
+		if gone, e := s.Collect(keep); e != api.ErrRange || len(gone) != 0 {
 			t.Error(keep, e)
 		}
 	}

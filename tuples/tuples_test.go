@@ -124,7 +124,7 @@ func TestP2_5UnionCommonWithout(t *testing.T) {
 	turned := []api.Tuple{a[1], a[0]}
 	long := append(many(4096), turned...)
 	for _, f := range []func(a, b []api.Tuple) ([]api.Tuple, api.Errno){Union, Common, Without} {
-		if l, e := f(turned, nil); e != api.ErrOrder || l != nil {
+		if l, e := f(turned, nil); e != api.ErrOrder || len(l) != 0 {
 			t.Error(e)
 		}
 		if _, e := f(nil, turned); e != api.ErrOrder {

@@ -43,7 +43,7 @@ func TestP36_1NewCheck(t *testing.T) {
 		l []int
 		e api.Errno
 	}{{nil, api.ErrRange}, {[]int{9}, api.ErrRange}, {[]int{1, 0}, api.ErrRange}, {make([]int, 17), api.ErrLimit}, {make([]int, 16), api.ErrRange}, {slices.Repeat([]int{8}, 16), 0}} {
-		if x, e := New(c.l); e != c.e || e != api.OK && x.Weights != nil || Check(Turns{Weights: c.l}) != c.e {
+		if x, e := New(c.l); e != c.e || e != api.OK && len(x.Weights) != 0 || Check(Turns{Weights: c.l}) != c.e {
 			t.Error(i, e)
 		}
 	}
@@ -69,7 +69,7 @@ func TestP36_2Next(t *testing.T) {
 	if y, client, found, e := Next(x, make([]bool, 3)); e != api.OK || client != 0 || found || !same(x, y) {
 		t.Error(y, e)
 	}
-	if y, _, found, e := Next(x, make([]bool, 2)); e != api.ErrArg || found || y.Weights != nil {
+	if y, _, found, e := Next(x, make([]bool, 2)); e != api.ErrArg || found || len(y.Weights) != 0 {
 		t.Error(e)
 	}
 	last := Turns{[]int{1, 1}, 1, 0, 1 << 62}
@@ -112,7 +112,7 @@ func TestP36_3Takes(t *testing.T) {
 		l [][]bool
 		e api.Errno
 	}{{Turns{}, make([][]bool, 5000), api.ErrRange}, {sample(t), make([][]bool, 4097), api.ErrLimit}, {sample(t), make([][]bool, 4096), api.ErrArg}, {sample(t), append(lists(3, "0"), nil), api.ErrArg}, {Turns{[]int{1}, 0, 0, 1 << 62}, lists(1, "0"), api.ErrRange}} {
-		if x, l, e := Takes(c.x, c.l); e != c.e || l != nil || x.Weights != nil {
+		if x, l, e := Takes(c.x, c.l); e != c.e || len(l) != 0 || len(x.Weights) != 0 {
 			t.Error(i, e)
 		}
 	}

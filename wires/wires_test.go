@@ -83,7 +83,7 @@ func TestP11_2Parse(t *testing.T) {
 		{"", 0, 0}, {lineA + lineB, 0, 0}, {lineA[:len(lineA)-1], 1, form}, {lineA + "x", 2, form}, {"\n", 1, form}, {lineA + "doc:A#v@u:x\n" + "x", 2, api.ErrName},
 		{long, 0, 0}, {long + "x", 4097, limit}, {strings.Repeat("\n", 1<<20+1), 0, limit}, {strings.Repeat("\n", 1<<20), 1, form}, {"+" + lineA, 1, api.ErrName},
 	} {
-		if l, line, e := Parse(x.s); line != x.line || e != x.e || e != 0 && l != nil || cap(l) != len(l) {
+		if l, line, e := Parse(x.s); line != x.line || e != x.e || e != 0 && len(l) != 0 || cap(l) != len(l) {
 			t.Error(i, line, e)
 		}
 	}
@@ -95,7 +95,7 @@ func TestP11_2Parse(t *testing.T) {
 		{"", 0, 0}, {"+" + lineA + "-" + lineB, 0, 0}, {lineA, 1, form}, {"\n", 1, form}, {"+" + lineA + "-", 2, form}, {"+x", 1, form}, {"+\n", 1, form}, {"+" + lineA + "-doc:A#v@u:x\n", 2, api.ErrName},
 		{strings.Repeat("+"+lineA, 4096) + "\n", 4097, limit}, {strings.Repeat("\n", 1<<20+1), 0, limit},
 	} {
-		if l, line, e := ParseChanges(x.s); line != x.line || e != x.e || e != 0 && l != nil {
+		if l, line, e := ParseChanges(x.s); line != x.line || e != x.e || e != 0 && len(l) != 0 {
 			t.Error(i, line, e)
 		}
 	}
@@ -129,7 +129,7 @@ func TestP11_4Stores(t *testing.T) {
 		t.Error(b, e)
 	}
 	for _, none := range []*stores.Store{nil, {}} {
-		if b, e := Dump(none); e != api.ErrNil || b != nil {
+		if b, e := Dump(none); e != api.ErrNil || len(b) != 0 {
 			t.Error(e)
 		}
 	}

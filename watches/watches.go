@@ -1,4 +1,5 @@
-package audits
+// Package watches knows what a service did while it does the events of a script, and tells which rules an event breaks. It is the inner part of audits.
+package watches
 
 import (
 	"slices"
@@ -31,8 +32,8 @@ type take struct {
 	client int
 }
 
-// watch is what is known while a service does events.
-type watch struct {
+// Watch is what is known while a service does events.
+type Watch struct {
 	script  scripts.Script
 	service *services.Service
 	buckets []buckets.Bucket
@@ -42,27 +43,50 @@ type watch struct {
 	drained bool // there was an event behind which the service was draining, and no item waited
 }
 
-// moment is an event that was done, with what there was before it, and with what follows.
-type moment struct {
+// Moment is an event that was done, with what there was before it, and with what follows.
+type Moment struct {
+	Event    api.Event
+	Replies  []api.Reply
+	Request  api.Request // of an Arrive
+	Right    bool        // the request is right
+	Took     bool        // a lane took a quantum
+	Stale    bool        // a stale quantum was finished
 	at       int
-	event    api.Event
-	replies  []api.Reply
 	ticket   int
-	request  api.Request // of an Arrive
-	right    bool        // the request is right
-	newest   uint64      // before
-	draining bool        // before
-	waiting  int         // items of the client, before
+	newest   uint64 // before
+	draining bool   // before
+	waiting  int    // items of the client, before
 	flights  flights.Table
 	eligible []int // flights that were eligible for a lane that was to take one
-	took     bool
 	taken    flights.Flight
-	stale    bool // a stale quantum was finished
+}
+
+// Run lets a service do the events of a script, and calls each behind those that it does not refuse: the error of scripts.Check.
+func Run(s scripts.Script, each func(i int, w *Watch, m Moment) bool) api.Errno {
+	if e := scripts.Check(s); e != api.OK {
+		return e
+	}
+	v, e := services.New(s.Config, s.Schema)
+	if e != api.OK {
+		return e
+	}
+	w := begin(s, v)
+	for i, x := range s.Events {
+		m, done := w.do(i, x)
+		if !done {
+			continue
+		}
+		if !each(i, w, m) {
+			break
+		}
+		w.learn(m)
+	}
+	return api.OK
 }
 
 // begin returns what is known at the beginning.
-func begin(s scripts.Script, v *services.Service) *watch {
-	w := &watch{script: s, service: v, waits: map[item]wait{}, sets: map[uint64]sets.Set{}}
+func begin(s scripts.Script, v *services.Service) *Watch {
+	w := &Watch{script: s, service: v, waits: map[item]wait{}, sets: map[uint64]sets.Set{}}
 	for _, c := range s.Config.Clients {
 		b, _ := buckets.New(c.Rate, c.Burst, 0)
 		w.buckets = append(w.buckets, b)
@@ -72,7 +96,7 @@ func begin(s scripts.Script, v *services.Service) *watch {
 }
 
 // keep notes the sets of revisions that are new.
-func (w *watch) keep() {
+func (w *Watch) keep() {
 	for _, rev := range w.service.Kept() {
 		if _, found := w.sets[rev]; !found {
 			w.sets[rev], _ = w.service.Set(rev)
@@ -81,7 +105,7 @@ func (w *watch) keep() {
 }
 
 // newest returns the newest revision of the service.
-func (w *watch) newest() uint64 {
+func (w *Watch) newest() uint64 {
 	kept := w.service.Kept()
 	if len(kept) == 0 {
 		return 0
@@ -90,21 +114,21 @@ func (w *watch) newest() uint64 {
 }
 
 // do lets the service do an event, and returns what came of it; false if it was refused.
-func (w *watch) do(i int, x api.Event) (m moment, done bool) {
+func (w *Watch) do(i int, x api.Event) (m Moment, done bool) {
 	v := w.service
-	m = moment{at: i, event: x, ticket: v.Tickets(), newest: w.newest(), draining: v.Draining(), waiting: v.Waiting(x.Client)}
+	m = Moment{at: i, Event: x, ticket: v.Tickets(), newest: w.newest(), draining: v.Draining(), waiting: v.Waiting(x.Client)}
 	before := v.Lanes()
 	if x.Kind == api.Arrive {
 		r, _, e := requests.Decode(x.Bytes)
-		m.request = r
-		m.right = e == api.OK && requests.Right(w.script.Schema, w.script.Config.Classes, r) == api.OK
+		m.Request = r
+		m.Right = e == api.OK && requests.Right(w.script.Schema, w.script.Config.Classes, r) == api.OK
 	}
 	if x.Kind == api.Work {
 		m.flights = v.Flights()
 	}
 	var e api.Errno
-	if m.replies, e = v.Do(x); e != api.OK {
-		return moment{}, false
+	if m.Replies, e = v.Do(x); e != api.OK {
+		return Moment{}, false
 	}
 	if x.Kind == api.Work {
 		m.work(before, v.Lanes(), w.script.Config.Hedge)
@@ -122,8 +146,8 @@ func versions(t flights.Table) []lanes.Flight {
 }
 
 // work finds out what a work has done.
-func (m *moment) work(before, after lanes.Lanes, hedge int) {
-	x := m.event.Lane
+func (m *Moment) work(before, after lanes.Lanes, hedge int) {
+	x := m.Event.Lane
 	begun, what, e := lanes.Begin(before, x)
 	if e != api.OK {
 		return
@@ -135,7 +159,7 @@ func (m *moment) work(before, after lanes.Lanes, hedge int) {
 		if !after.Lane[x].Held {
 			return
 		}
-		m.took = true
+		m.Took = true
 		for _, f := range m.flights.Flights {
 			if f.ID == after.Lane[x].ID {
 				m.taken = f
@@ -143,28 +167,34 @@ func (m *moment) work(before, after lanes.Lanes, hedge int) {
 		}
 	case lanes.Finishes:
 		held := before.Lane[x]
-		m.stale = lanes.Stale(lanes.Flight{ID: held.ID, Version: held.Version}, all)
+		m.Stale = lanes.Stale(lanes.Flight{ID: held.ID, Version: held.Version}, all)
 	}
 }
 
-// answers reports whether replies of a kind are to items.
-func answers(kind uint8) bool {
+// Waits returns the event in which an item that waits was admitted.
+func (w *Watch) Waits(ticket, n int) (event int, waits bool) {
+	x, waits := w.waits[item{ticket, n}]
+	return x.event, waits
+}
+
+// Answers reports whether replies of a kind are to items.
+func Answers(kind uint8) bool {
 	return kind == api.Answer || kind == api.Listed || kind == api.Budget
 }
 
 // reply returns the reply to the request of an event, if it has one.
-func (m moment) reply() (api.Reply, bool) {
-	for _, r := range m.replies {
-		if m.event.Kind == api.Arrive && r.Kind != api.Drained && r.Ticket == m.ticket && !answers(r.Kind) {
+func (m Moment) reply() (api.Reply, bool) {
+	for _, r := range m.Replies {
+		if m.Event.Kind == api.Arrive && r.Kind != api.Drained && r.Ticket == m.ticket && !Answers(r.Kind) {
 			return r, true
 		}
 	}
 	return api.Reply{}, false
 }
 
-// admitted reports whether a request was admitted.
-func (m moment) admitted() bool {
-	if m.event.Kind != api.Arrive {
+// Admitted reports whether a request was admitted.
+func (m Moment) Admitted() bool {
+	if m.Event.Kind != api.Arrive {
 		return false
 	}
 	r, replied := m.reply()
@@ -172,7 +202,7 @@ func (m moment) admitted() bool {
 }
 
 // take returns the take of an event.
-func (m moment) take(clients int) take {
+func (m Moment) take(clients int) take {
 	able := make([]bool, clients)
 	for _, f := range m.flights.Flights {
 		if f.Client >= 0 && f.Client < clients && slices.Contains(m.eligible, f.ID) {
@@ -183,16 +213,16 @@ func (m moment) take(clients int) take {
 }
 
 // learn notes what an event has changed.
-func (w *watch) learn(m moment) {
-	x := m.event
-	if m.admitted() {
-		if b, taken, e := buckets.Take(w.buckets[x.Client], w.service.Time(), int64(requests.Units(m.request))); e == api.OK && taken {
+func (w *Watch) learn(m Moment) {
+	x := m.Event
+	if m.Admitted() {
+		if b, taken, e := buckets.Take(w.buckets[x.Client], w.service.Time(), int64(requests.Units(m.Request))); e == api.OK && taken {
 			w.buckets[x.Client] = b
 		}
 	}
 	w.waits = w.left(m)
 	w.keep()
-	if m.took {
+	if m.Took {
 		w.takes = append(w.takes, m.take(len(w.buckets)))
 	}
 	w.drained = w.drained || w.service.Draining() && len(w.waits) == 0

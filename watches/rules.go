@@ -1,4 +1,4 @@
-package audits
+package watches
 
 import (
 	"maps"
@@ -15,28 +15,28 @@ import (
 )
 
 // left returns the items that wait behind an event.
-func (w *watch) left(m moment) map[item]wait {
+func (w *Watch) left(m Moment) map[item]wait {
 	out := maps.Clone(w.waits)
-	for _, r := range m.replies {
-		if answers(r.Kind) {
+	for _, r := range m.Replies {
+		if Answers(r.Kind) {
 			delete(out, item{r.Ticket, r.Item})
 		}
 	}
-	if m.admitted() && m.request.Kind == api.Ask {
-		rev := m.request.Rev
+	if m.Admitted() && m.Request.Kind == api.Ask {
+		rev := m.Request.Rev
 		if rev == 0 {
 			rev = m.newest
 		}
 		set, _ := w.service.Set(rev)
-		for i, q := range m.request.Items {
-			out[item{m.ticket, i}] = wait{m.at, m.event.Client, q, rev, set}
+		for i, q := range m.Request.Items {
+			out[item{m.ticket, i}] = wait{m.at, m.Event.Client, q, rev, set}
 		}
 	}
 	return out
 }
 
 // right returns the right reply to an item that waits.
-func (w *watch) right(k item, x wait) api.Reply {
+func (w *Watch) right(k item, x wait) api.Reply {
 	r := api.Reply{Ticket: k.ticket, Item: k.item, Client: x.client, Kind: api.Budget, Rev: x.rev}
 	s, l := w.script.Schema, x.set.List()
 	if cost, e := reaches.Cost(s, l, x.query); e != api.OK || cost > w.script.Config.Budget {
@@ -53,10 +53,10 @@ func (w *watch) right(k item, x wait) api.Reply {
 }
 
 // firsts returns the replies to items that wait, and whether there are others to items.
-func (w *watch) firsts(m moment) (out []api.Reply, again bool) {
+func (w *Watch) firsts(m Moment) (out []api.Reply, again bool) {
 	seen := map[item]bool{}
-	for _, r := range m.replies {
-		if !answers(r.Kind) {
+	for _, r := range m.Replies {
+		if !Answers(r.Kind) {
 			continue
 		}
 		k := item{r.Ticket, r.Item}
@@ -70,7 +70,8 @@ func (w *watch) firsts(m moment) (out []api.Reply, again bool) {
 	return out, again
 }
 
-func wrongAnswer(w *watch, m moment) bool {
+// WrongAnswer reports whether a reply to an item that waits is not the right one.
+func WrongAnswer(w *Watch, m Moment) bool {
 	l, _ := w.firsts(m)
 	return slices.ContainsFunc(l, func(r api.Reply) bool {
 		k := item{r.Ticket, r.Item}
@@ -78,31 +79,35 @@ func wrongAnswer(w *watch, m moment) bool {
 	})
 }
 
-func answeredAgain(w *watch, m moment) bool {
+// AnsweredAgain reports whether there is a reply to an item that does not wait.
+func AnsweredAgain(w *Watch, m Moment) bool {
 	_, again := w.firsts(m)
 	return again
 }
 
 // tokens reports whether the tokens for the request of an event are there.
-func (w *watch) tokens(m moment) bool {
-	have, e := buckets.At(w.buckets[m.event.Client], w.service.Time())
-	return e == api.OK && have >= int64(requests.Units(m.request))
+func (w *Watch) tokens(m Moment) bool {
+	have, e := buckets.At(w.buckets[m.Event.Client], w.service.Time())
+	return e == api.OK && have >= int64(requests.Units(m.Request))
 }
 
-func admittedWithoutTokens(w *watch, m moment) bool { return m.admitted() && !w.tokens(m) }
+// AdmittedWithoutTokens reports whether a request is admitted, and the tokens are not there.
+func AdmittedWithoutTokens(w *Watch, m Moment) bool { return m.Admitted() && !w.tokens(m) }
 
-func shedWrongly(w *watch, m moment) bool {
+// ShedWrongly reports whether a request is shed with a wrong wait, or though there are tokens and room.
+func ShedWrongly(w *Watch, m Moment) bool {
 	r, replied := m.reply()
 	if !replied || r.Kind != api.Shed {
 		return false
 	}
-	after, e := buckets.After(w.buckets[m.event.Client], w.service.Time(), int64(requests.Units(m.request)))
-	room := m.request.Kind != api.Ask || m.waiting+len(m.request.Items) <= w.script.Config.Cap
+	after, e := buckets.After(w.buckets[m.Event.Client], w.service.Time(), int64(requests.Units(m.Request)))
+	room := m.Request.Kind != api.Ask || m.waiting+len(m.Request.Items) <= w.script.Config.Cap
 	return e != api.OK || r.After != after || w.tokens(m) && room
 }
 
-func overtaken(w *watch, m moment) bool {
-	if !m.took {
+// Overtaken reports whether a flight is taken ahead of an older one that has waited long enough.
+func Overtaken(w *Watch, m Moment) bool {
+	if !m.Took {
 		return false
 	}
 	c := w.script.Config
@@ -115,8 +120,9 @@ func overtaken(w *watch, m moment) bool {
 	return false
 }
 
-func unfair(w *watch, m moment) bool {
-	if !m.took {
+// Unfair reports whether a take makes a stretch unfair to its client and another one.
+func Unfair(w *Watch, m Moment) bool {
+	if !m.Took {
 		return false
 	}
 	last := m.take(len(w.buckets))
@@ -129,7 +135,7 @@ func unfair(w *watch, m moment) bool {
 }
 
 // fair reports whether all stretches that end with a take are fair to its client and to another one.
-func (w *watch) fair(last take, other int) bool {
+func (w *Watch) fair(last take, other int) bool {
 	own := last.client
 	v, u := w.script.Config.Clients[own].Weight, w.script.Config.Clients[other].Weight
 	n, m := 0, 0
@@ -154,7 +160,8 @@ func (w *watch) fair(last take, other int) bool {
 	return true
 }
 
-func notPinned(w *watch, m moment) bool {
+// NotPinned reports whether the revisions of the items that wait are not kept, or pins are not theirs.
+func NotPinned(w *Watch, m Moment) bool {
 	counts := map[uint64]int{}
 	kept := w.service.Kept()
 	for _, x := range w.left(m) {
@@ -174,7 +181,8 @@ func notPinned(w *watch, m moment) bool {
 	return len(pins) != len(counts)
 }
 
-func wrongStore(w *watch, m moment) bool {
+// WrongStore reports whether revisions are not what they have to be.
+func WrongStore(w *Watch, m Moment) bool {
 	for _, rev := range w.service.Kept() {
 		now, e := w.service.Set(rev)
 		if known, found := w.sets[rev]; found && (e != api.OK || !sets.Same(known, now)) {
@@ -189,14 +197,14 @@ func wrongStore(w *watch, m moment) bool {
 }
 
 // wrongWrite reports whether a reply Wrote does not tell the truth.
-func (w *watch) wrongWrite(m moment, r api.Reply) bool {
+func (w *Watch) wrongWrite(m Moment, r api.Reply) bool {
 	set := w.sets[m.newest]
-	for _, x := range m.request.Musts {
+	for _, x := range m.Request.Musts {
 		if set.Has(x.Tuple) == x.Not {
 			return true
 		}
 	}
-	for _, x := range m.request.Changes {
+	for _, x := range m.Request.Changes {
 		next, e := set.With(x)
 		if e != api.OK {
 			return true
@@ -208,23 +216,24 @@ func (w *watch) wrongWrite(m moment, r api.Reply) bool {
 }
 
 // wrongRead reports whether a reply Told does not tell the truth.
-func (w *watch) wrongRead(m moment, r api.Reply) bool {
-	rev := m.request.Rev
+func (w *Watch) wrongRead(m Moment, r api.Reply) bool {
+	rev := m.Request.Rev
 	if rev == 0 {
 		rev = m.newest
 	}
-	l, e := filters.Select(w.sets[rev].List(), m.request.Filter)
+	l, e := filters.Select(w.sets[rev].List(), m.Request.Filter)
 	return e != api.OK || r.Rev != rev || !slices.Equal(l, r.Tuples)
 }
 
-func wrongDrain(w *watch, m moment) bool {
+// WrongDrain reports whether a drain is not what it has to be.
+func WrongDrain(w *Watch, m Moment) bool {
 	r, replied := m.reply()
-	if m.right && (replied && r.Kind == api.Draining) != m.draining {
+	if m.Right && (replied && r.Kind == api.Draining) != m.draining {
 		return true
 	}
 	due := !w.drained && w.service.Draining() && len(w.left(m)) == 0
 	told := 0
-	for _, r := range m.replies {
+	for _, r := range m.Replies {
 		if r.Kind == api.Drained {
 			told++
 		}
@@ -232,5 +241,5 @@ func wrongDrain(w *watch, m moment) bool {
 	if !due {
 		return told > 0
 	}
-	return told != 1 || m.replies[len(m.replies)-1].Kind != api.Drained
+	return told != 1 || m.Replies[len(m.Replies)-1].Kind != api.Drained
 }
