@@ -91,6 +91,9 @@ func TestP4_2Reading(t *testing.T) {
 	if r.Number() != 300 || r.At() != 2 || r.Left() != 0 {
 		t.Error("Of has to copy")
 	}
+	if r := Of([]byte{2, 97, 98}); r.Text(2) != "ab" || r.Failed() {
+		t.Error("a text at the end")
+	}
 	type fault struct {
 		bytes []byte
 		read  func(r *Reader)

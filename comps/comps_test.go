@@ -45,6 +45,9 @@ func TestP17_1Of(t *testing.T) {
 	if e != api.OK || !equal(c, Comps{[][]int{{2}, {0, 1}, {4}, {3}}, []int{1, 1, 0, 3, 2}}) {
 		t.Error(c, e)
 	}
+	if cap(c.List) != 4 || cap(c.In) != 5 {
+		t.Error("spare capacity")
+	}
 	for _, l := range c.List {
 		if cap(l) != len(l) {
 			t.Error("spare capacity")
@@ -93,6 +96,9 @@ func TestP17_3SimpleMixed(t *testing.T) {
 		t.Error(l, e)
 	}
 	if l, _ := Mixed(graph(3, [3]int{0, 0, 1}, [3]int{1, 2, 1}, [3]int{2, 2, 0}, [3]int{2, 2, 1})); !slices.Equal(l, []int{0, 1}) {
+		t.Error(l)
+	}
+	if l, _ := Mixed(graph(2, [3]int{0, 0, 1}, [3]int{0, 1, 0}, [3]int{1, 1, 1})); !slices.Equal(l, []int{0, 1}) || cap(l) != 2 {
 		t.Error(l)
 	}
 	_, e1 := Simple(graph(300), 9)

@@ -81,7 +81,7 @@ func TestP3_1CheckTakesPrefix(t *testing.T) {
 
 func TestP3_2SpanSelect(t *testing.T) {
 	l := sample(t)
-	for s, want := range map[string][2]int{"a:x#*": {0, 2}, "a:x2#*": {2, 2}, "*:y#*": {0, 4}, "a:*#*": {0, 3}, "c:*#*": {4, 4}, "a:x#r@u:b": {1, 2}, "a:x#r@u:a#r": {1, 1}} {
+	for s, want := range map[string][2]int{"a:x#*": {0, 2}, "a:x2#*": {2, 2}, "*:y#*": {0, 4}, "a:*#*": {0, 3}, "c:*#*": {4, 4}, "a:x#r@u:b": {1, 2}, "a:x#r": {0, 2}, "a:y#r": {2, 2}, "a:y#s": {2, 3}, "a:x#r@u:a#r": {1, 1}} {
 		if from, to, e := Span(l, filter(t, s)); e != api.OK || from != want[0] || to != want[1] {
 			t.Error(s, from, to, e)
 		}
@@ -91,8 +91,11 @@ func TestP3_2SpanSelect(t *testing.T) {
 		t.Error(got, e)
 	}
 	turned := []api.Tuple{l[1], l[0]}
-	if _, _, e := Span(turned, api.Filter{}); e != api.ErrOrder {
-		t.Error(e)
+	if from, to, e := Span(turned, api.Filter{}); e != api.ErrOrder || from != 0 || to != 0 {
+		t.Error(from, to, e)
+	}
+	if from, to, e := Span(l, api.Filter{Rel: "R"}); e != api.ErrName || from != 0 || to != 0 {
+		t.Error(from, to, e)
 	}
 	if _, e := Select(turned, api.Filter{Space: "A"}); e != api.ErrName {
 		t.Error(e)

@@ -59,6 +59,9 @@ func TestP16_2Of(t *testing.T) {
 	if e != api.OK || g.N != 4 || !slices.Equal(g.Edges, []Edge{{1, 0, false}, {1, 0, true}, {1, 1, true}, {1, 2, false}, {1, 2, true}, {2, 0, false}, {2, 1, false}, {3, 0, false}}) {
 		t.Error(g, e)
 	}
+	if g, _ := Of(parsed(t, "namespace c { relation v: [c]; } namespace a { relation p: [a, c#v]; relation v = p->v; }")); !slices.Equal(g.Edges, []Edge{{1, 0, false}, {2, 2, false}}) {
+		t.Error(g)
+	}
 	if g, e := Of(parsed(t, "namespace a { relation b; }")); e != api.ErrType || g.N != 0 {
 		t.Error(e)
 	}

@@ -26,6 +26,8 @@ func TestP12_1Lex(t *testing.T) {
 		"namespace0 thisa{}()|&,":      "1namespace0 1thisa 3{ 3} 3( 3) 3| 3& 3,",
 		"0123456789abcdef":             "10123456789abcdef",
 		"a-":                           "1a 3-",
+		"az09 z 0":                     "1az09 1z 10",
+		strings.Repeat(" ", 1<<20):     "",
 	} {
 		if l, at, e := Lex(s); e != api.OK || at != len(s) || texts(l) != want || cap(l) != len(l) {
 			t.Error(s, texts(l), at, e)
@@ -73,6 +75,14 @@ func TestP12_2Check(t *testing.T) {
 func TestP12_3Text(t *testing.T) {
 	if s, e := Text([]Token{{Name, "a", 0}, {Sign, "->", 0}, {Word, "this", 0}}); e != api.OK || s != "a -> this" {
 		t.Error(s, e)
+	}
+	exact := make([]Token, 1<<16)
+	for i := range exact {
+		exact[i] = Token{Name, "0123456789abcde", 0}
+	}
+	exact[0].Text += "f"
+	if s, e := Text(exact); e != api.OK || len(s) != 1<<20 {
+		t.Error(len(s), e)
 	}
 	if s, e := Text(nil); e != api.OK || s != "" {
 		t.Error(s, e)

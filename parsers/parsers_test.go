@@ -40,7 +40,7 @@ func TestP14_1Check(t *testing.T) {
 		e api.Errno
 	}{
 		{api.Schema{}, 0}, {parsed(t, sample), 0}, {api.Schema{Spaces: make([]api.Space, 17)}, api.ErrLimit}, {api.Schema{Spaces: make([]api.Space, 16)}, api.ErrName}, {api.Schema{Spaces: []api.Space{{Name: "this"}}}, api.ErrName},
-		{api.Schema{Spaces: []api.Space{{Name: "a", Relations: make([]api.Relation, 17)}}}, api.ErrLimit}, {api.Schema{Spaces: []api.Space{{Name: "a"}, {Name: "a"}}}, 0},
+		{api.Schema{Spaces: []api.Space{{Name: "a", Relations: make([]api.Relation, 17)}}}, api.ErrLimit}, {api.Schema{Spaces: []api.Space{{Name: "a", Relations: make([]api.Relation, 16)}}}, api.ErrName}, {api.Schema{Spaces: []api.Space{{Name: "a"}, {Name: "a"}}}, 0},
 		{one(api.Relation{Name: "relation", Types: types(9)}), api.ErrName}, {one(api.Relation{Name: "b", Types: types(9)}), api.ErrLimit}, {one(api.Relation{Name: "b", Types: types(8)}), api.ErrName},
 		{one(api.Relation{Name: "b", Types: []api.Type{{Space: "u", Rel: "X"}}, Rule: this()}), api.ErrName}, {one(api.Relation{Name: "b"}), api.ErrKind}, {one(api.Relation{Name: "b", Rule: this()}), 0},
 		{one(api.Relation{Name: "b", Rule: api.Rule{Kind: api.Computed, Rel: "this"}}), api.ErrName},
@@ -132,7 +132,7 @@ func TestP14_4SameCopy(t *testing.T) {
 		}
 	}
 	bad := one(api.Relation{})
-	if Same(bad, bad) || len(Copy(bad).Spaces) != 0 || Same(s, bad) || !Same(api.Schema{}, api.Schema{Spaces: []api.Space{}}) {
+	if Same(bad, bad) || Same(bad, api.Schema{}) || Same(api.Schema{}, bad) || len(Copy(bad).Spaces) != 0 || Same(s, bad) || !Same(api.Schema{}, api.Schema{Spaces: []api.Space{}}) {
 		t.Error("a schema that cannot be written")
 	}
 }

@@ -73,7 +73,7 @@ func TestP13_1Check(t *testing.T) {
 	}{
 		{sample(), 0}, {api.Rule{}, api.ErrKind}, {computed("this"), api.ErrName}, {union(this()), api.ErrForm}, {computed(""), api.ErrName}, {arrow("a", "B"), api.ErrName}, {arrow("", "b"), api.ErrName},
 		{api.Rule{Kind: 7}, api.ErrKind}, {api.Rule{Kind: api.This, Rel: "a"}, api.ErrForm}, {api.Rule{Kind: api.This, To: "a"}, api.ErrForm}, {api.Rule{Kind: api.This, Args: []api.Rule{{}}}, api.ErrForm},
-		{api.Rule{Kind: api.Computed, Rel: "A", To: "a"}, api.ErrForm}, {api.Rule{Kind: api.Union, Rel: "a", Args: []api.Rule{this(), this()}}, api.ErrForm}, {exclude(this(), this(), this()), api.ErrForm}, {exclude(this()), api.ErrForm},
+		{api.Rule{Kind: api.Computed, Rel: "A", To: "a"}, api.ErrForm}, {api.Rule{Kind: api.Union, Rel: "a", Args: []api.Rule{this(), this()}}, api.ErrForm}, {exclude(this(), this(), this()), api.ErrForm}, {exclude(this()), api.ErrForm}, {api.Rule{Kind: api.Exclude, To: "a", Args: []api.Rule{this(), this()}}, api.ErrForm}, {api.Rule{Kind: api.Exclude, Rel: "a", Args: []api.Rule{this(), this()}}, api.ErrForm}, {api.Rule{Kind: api.Intersect, To: "a", Args: []api.Rule{this(), this()}}, api.ErrForm}, {api.Rule{Kind: api.Arrow, Rel: "a", To: "b", Args: []api.Rule{this()}}, api.ErrForm},
 		{union(computed("B"), api.Rule{}), api.ErrName}, {union(exclude(this(), api.Rule{}), computed("B")), api.ErrKind}, {deep(8), 0}, {deep(9), api.ErrLimit}, {many, 0}, {union(append(many.Args, this())...), api.ErrLimit}, {wide(33), api.ErrLimit}, {wide(32), api.ErrKind}, {loop[0], api.ErrLimit},
 	} {
 		if e := Check(x.r); e != x.e {

@@ -75,7 +75,7 @@ func TestP15_2RelationCountNumberAt(t *testing.T) {
 		if _, e := Relation(s, k[0], k[1]); e != api.ErrName {
 			t.Error(k, e)
 		}
-		if _, e := Number(s, k[0], k[1]); e != api.ErrName {
+		if n, e := Number(s, k[0], k[1]); e != api.ErrName || n != 0 {
 			t.Error(k, e)
 		}
 	}
@@ -86,10 +86,10 @@ func TestP15_2RelationCountNumberAt(t *testing.T) {
 	}
 	bad := parsed(t, "namespace a { relation b; }")
 	_, e1 := Relation(bad, "x", "y")
-	_, e2 := Number(bad, "x", "y")
+	n, e2 := Number(bad, "x", "y")
 	_, _, e3 := At(bad, 9)
 	_, e4 := Targets(bad, "x", "y", "z")
-	if e1 != api.ErrType || e2 != api.ErrType || e3 != api.ErrType || e4 != api.ErrType || Count(bad) != 0 {
+	if e1 != api.ErrType || e2 != api.ErrType || e3 != api.ErrType || e4 != api.ErrType || n != 0 || Count(bad) != 0 {
 		t.Error("a schema that is not closed")
 	}
 }
@@ -125,6 +125,9 @@ func TestP15_4Extends(t *testing.T) {
 		if Extends(parsed(t, text), s) != want {
 			t.Error(text)
 		}
+	}
+	if Extends(parsed(t, "namespace a {}"), parsed(t, "namespace b {}")) {
+		t.Error("a namespace without relations")
 	}
 	if Extends(s, parsed(t, "namespace a { relation b; }")) || !Extends(s, api.Schema{}) {
 		t.Error("old schemas")

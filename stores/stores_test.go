@@ -104,7 +104,7 @@ func TestP10_3Write(t *testing.T) {
 	if rev, e := s.Write([]api.Must{{Tuple: tuple("a")}}, nil); rev != 0 || e != api.ErrMust || s.Newest() != 3 {
 		t.Error(e)
 	}
-	if _, e := s.Write(nil, make([]api.Change, 33)); e != api.ErrLimit {
+	if rev, e := s.Write(nil, make([]api.Change, 33)); e != api.ErrLimit || rev != 0 {
 		t.Error(e)
 	}
 	if rev, e := s.Write(nil, nil); rev != 4 || e != api.OK || at(t, s, 4).Len() != 1 {
@@ -113,7 +113,7 @@ func TestP10_3Write(t *testing.T) {
 	for s.Newest() < 1024 {
 		s.Write(nil, nil)
 	}
-	if _, e := s.Write(nil, nil); e != api.ErrLimit || s.Newest() != 1024 {
+	if rev, e := s.Write(nil, nil); e != api.ErrLimit || rev != 0 || s.Newest() != 1024 {
 		t.Error(e)
 	}
 	if _, e := s.Write([]api.Must{{Tuple: tuple("a")}}, nil); e != api.ErrMust {
@@ -210,6 +210,13 @@ func TestP10_7Make(t *testing.T) {
 		t.Error(e)
 	}
 	long := make([]uint64, 1025)
+	var most []uint64
+	for i := range 1024 {
+		most = append(most, uint64(i+1))
+	}
+	if s, e := Make(most, make([]sets.Set, 1024), p); e != api.OK || len(s.Kept()) != 1024 {
+		t.Error(e)
+	}
 	for i, x := range []struct {
 		revs []uint64
 		l    []sets.Set

@@ -83,7 +83,7 @@ func TestP18_3AtManyIn(t *testing.T) {
 			t.Error(n, e)
 		}
 	}
-	if _, e := z.At("a", "x"); e != api.ErrName {
+	if n, e := z.At("a", "x"); e != api.ErrName || n != 0 {
 		t.Error(e)
 	}
 	var none Strata

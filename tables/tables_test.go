@@ -65,7 +65,8 @@ func TestP19_1OfManyStrata(t *testing.T) {
 }
 
 func TestP19_2HasFindAt(t *testing.T) {
-	x, v := tables(t), view(t)
+	x := tables(t)
+	v, _ := x.Find("doc", "v")
 	want := Table{"doc", "v", 1, 1, []api.Type{{Space: "user"}}, []Node{
 		{Kind: 6, Args: []int{1, 5}, Leaf: -1}, {Kind: 4, Args: []int{2, 3, 4}, Leaf: -1}, {Kind: 1}, {Kind: 2, Rel: "v", Leaf: 1}, {Kind: 3, Rel: "p", To: "v", Spaces: []string{"doc"}, Leaf: 2}, {Kind: 2, Rel: "w", Leaf: 3}}}
 	if !equal(v, want) {
@@ -122,15 +123,36 @@ func TestP19_3CheckRule(t *testing.T) {
 	if Check(append(view(t).Nodes, Node{Kind: 1, Leaf: 4})) != api.ErrForm || Check(view(t).Nodes[:5]) != api.ErrForm {
 		t.Error("too many or too few")
 	}
-	var deep []Node
-	for i := range 9 {
-		deep = append(deep, Node{Kind: uint8(4 + i%2), Args: []int{i + 1, 19 - 1 - i}, Leaf: -1})
+	this := func(leaf int) Node { return Node{Kind: api.This, Leaf: leaf} }
+	for levels, want := range map[int]api.Errno{8: api.OK, 9: api.ErrForm} {
+		var deep []Node
+		for i := range levels - 1 { // each inner node has the next one, and then a leaf
+			deep = append(deep, Node{Kind: uint8(4 + i%2), Args: []int{i + 1, 2*levels - 2 - i}, Leaf: -1})
+		}
+		for i := range levels {
+			deep = append(deep, this(i))
+		}
+		if e := Check(deep); e != want {
+			t.Error(levels, e)
+		}
 	}
-	for i := range 10 {
-		deep = append(deep, Node{Kind: 1, Leaf: i})
+	for n, want := range map[int]api.Errno{31: api.OK, 32: api.ErrForm} {
+		wide := []Node{{Kind: api.Union, Leaf: -1}}
+		for i := range n {
+			wide[0].Args = append(wide[0].Args, i+1)
+			wide = append(wide, this(i))
+		}
+		if e := Check(wide); e != want {
+			t.Error(n, e)
+		}
+		if wide[0].Kind = api.Exclude; Check(wide) != api.ErrForm {
+			t.Error("too many arguments")
+		}
 	}
-	if Check(deep) != api.ErrForm {
-		t.Error("too many levels")
+	for i, l := range [][]Node{{{Kind: api.Union, Args: []int{1}, Leaf: -1}, this(0)}, {{Kind: api.Exclude, Args: []int{1, 2, 3}, Leaf: -1}, this(0), this(1), this(2)}, {{Kind: api.Exclude, Args: []int{1, 2}, Leaf: -1}, {Kind: api.Exclude, Args: []int{2, 3}, Leaf: -1}, this(0), this(1), this(2)}} {
+		if Check(l) != api.ErrForm {
+			t.Error(i)
+		}
 	}
 	if r, e := Rule(view(t).Nodes); e != api.OK || len(r.Args) != 2 || len(r.Args[0].Args) != 3 {
 		t.Error(r, e)
@@ -160,6 +182,17 @@ func TestP19_4EvalSets(t *testing.T) {
 		if got, e := Sets(l, [][]api.Object{nil, nil, nil, bad}); e != api.ErrOrder || len(got) != 0 {
 			t.Error(e)
 		}
+	}
+	both := []Node{{Kind: api.Intersect, Args: []int{1, 2}, Leaf: -1}, {Kind: api.This}, {Kind: api.Computed, Rel: "a", Leaf: 1}}
+	for _, a := range []bool{false, true} {
+		for _, b := range []bool{false, true} {
+			if v, e := Eval(both, []bool{a, b}); v != (a && b) || e != api.OK {
+				t.Error(a, b, v)
+			}
+		}
+	}
+	if l, _ := Sets(both, [][]api.Object{set("abd"), set("bcd")}); !slices.Equal(l, set("bd")) {
+		t.Error(l)
 	}
 	one := []Node{{Kind: api.This}}
 	a := set("ab")

@@ -105,7 +105,7 @@ func TestP2_4Find(t *testing.T) {
 			t.Error(s, at, found)
 		}
 	}
-	if at, found := Find([]api.Tuple{l[1], l[0]}, l[0]); at != 0 || found {
+	if at, found := Find([]api.Tuple{l[0], l[1], l[1]}, l[1]); at != 0 || found {
 		t.Error("a list that is not sorted")
 	}
 }

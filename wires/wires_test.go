@@ -58,6 +58,9 @@ func TestP11_1Texts(t *testing.T) {
 	if s, e := ChangesText([]api.Change{{Tuple: a}, {Tuple: b, Drop: true}}); e != api.OK || s != "+"+lineA+"-"+lineB {
 		t.Error(s, e)
 	}
+	if s, e := Text(many(4096)); e != api.OK || strings.Count(s, "\n") != 4096 {
+		t.Error(e)
+	}
 	if s, e := Text(make([]api.Tuple, 4097)); e != api.ErrLimit || s != "" {
 		t.Error(e)
 	}
