@@ -20,9 +20,12 @@ func TestP34_1NewCheck(t *testing.T) {
 		if Check(x) != api.ErrRange {
 			t.Error(i)
 		}
-		_, e1 := At(x, 5)
+		n, e1 := At(x, 5)
 		_, _, e2 := Take(x, 5, 1)
-		_, e3 := After(x, 5, 1)
+		m, e3 := After(x, 5, 1)
+		if n != 0 || m != 0 {
+			t.Error(i, n, m)
+		}
 		_, _, e4 := Play(x, make([]Step, 5000))
 		if e1 != api.ErrRange || e2 != api.ErrRange || e3 != api.ErrRange || e4 != api.ErrRange {
 			t.Error(i, e1, e2, e3, e4)

@@ -123,6 +123,13 @@ func TestP32_2Holds(t *testing.T) {
 			t.Error(i, at, e)
 		}
 	}
+	one := check(t, "doc:x#owner", "a")
+	if at, e := Holds(w, one, cert(t, w, one)); at != 0 || e != api.OK || len(cert(t, w, one).Lines) != 1 {
+		t.Error("a certificate with one line", at, e)
+	}
+	if at, e := Holds(w, one, Cert{Lines: make([]Line, goals.MaxGoals)}); at != 0 || e != api.ErrName {
+		t.Error("the most lines", at, e)
+	}
 	w = world(t, "group:g#member@group:h#member group:h#member@group:g#member")
 	loop := Cert{api.Object{Space: "user", ID: "a"}, []Line{{goal(t, "group:g#member"), true, 1}, {goal(t, "group:h#member"), true, 2}}}
 	if at, e := Holds(w, check(t, "group:g#member", "a"), loop); at != 0 || e != api.ErrFalse {

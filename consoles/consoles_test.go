@@ -120,6 +120,9 @@ func TestP45_2Parse(t *testing.T) {
 	if x, e := Parse(batch); e != api.OK || len(x.Request.Items) != 81 {
 		t.Error(e)
 	}
+	if MaxLine != 1<<20 || MaxParts != 80 {
+		t.Error("constants")
+	}
 	if _, e := Parse("load " + strings.Repeat("\n", MaxLine-4)); e != api.ErrLimit {
 		t.Error(e)
 	}
@@ -179,6 +182,15 @@ func TestP45_3Changes(t *testing.T) {
 	do(t, c, "flaw 4", "ok")
 	do(t, c, "audit", "2 Pinned")
 	long := New()
+	if _, e := c.Do("flaw 255"); e != api.ErrConfig {
+		t.Error(e)
+	}
+	if _, e := c.Do("mutant 255"); e != api.ErrArg {
+		t.Error(e)
+	}
+	if r, e := c.Do("check 0 255 0 doc:x#viewer user:a"); !strings.HasSuffix(r, "malformed 0") || e != api.OK {
+		t.Error(r, e)
+	}
 	b := strings.Repeat("drain~", 4095) + "drain"
 	text, _ := long.Do("text")
 	do(t, long, "load "+text+"~"+b, "ok")

@@ -136,6 +136,13 @@ func TestP29_1OfCheck(t *testing.T) {
 			t.Error(i)
 		}
 	}
+	name := long[:16]
+	if Check(Cont{Query: api.Query{Kind: 1, Goal: api.Goal{Rel: name}, User: api.Object{Space: name, ID: name}}, Goals: make([]api.Goal, 131072)}) != api.OK {
+		t.Error("the longest texts, and the most goals")
+	}
+	if Check(Cont{Query: api.Query{Kind: 2}, Goals: make([]api.Goal, 1), Solving: true, Sets: [][]api.Object{make([]api.Object, 4096)}, Ranks: []int{0}}) != api.OK {
+		t.Error("the most objects")
+	}
 	if Check(Cont{Query: api.Query{Kind: 2}}) != api.OK || Check(Cont{Query: api.Query{Kind: 2}, Solving: true, Level: 9, Pos: 7, Changed: true, Over: true}) != api.OK {
 		t.Error("small continuations")
 	}
@@ -149,6 +156,16 @@ func TestP29_2BytesRead(t *testing.T) {
 		if b, e := Bytes(Of(after(t, w, q, k))); e != api.OK || !bytes.Equal(b, want) {
 			t.Error(k, b, e)
 		}
+	}
+	if c, _, e := Read(coded(q, 1<<63-1, 1, q.Goal, 1<<63-1, 0, 0)); e != api.OK || c.Steps != 1<<63-1 || c.At != 1<<63-1 || cap(c.Goals) != 1 {
+		t.Error(e)
+	}
+	b, _ := Bytes(Of(after(t, w, check(t, "doc:x#viewer", "a"), 19)))
+	d, _ := Bytes(Of(after(t, w, expand(t, "doc:x#viewer"), 19)))
+	x, _, _ := Read(b)
+	y, _, _ := Read(d)
+	if cap(x.Truths) != 5 || cap(x.Ranks) != 5 || cap(x.Goals) != 5 || cap(y.Sets) != 5 || cap(y.Sets[0]) != 2 {
+		t.Error("spare capacity")
 	}
 	if len(first) != 37 {
 		t.Error(len(first))

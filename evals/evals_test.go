@@ -111,7 +111,10 @@ func TestP33_1NewWorld(t *testing.T) {
 		t.Error("a revision that is gone", e)
 	}
 	for _, none := range []*Eval{nil, {}} {
-		_, _, e1 := none.World(0)
+		_, at, e1 := none.World(0)
+		if at != 0 {
+			t.Error(at)
+		}
 		_, e2 := none.Ask(0, api.Query{}, 0)
 		_, _, e3 := none.Batch(0, nil, 0, 0)
 		_, e4 := none.Why(0, api.Query{})
@@ -169,6 +172,9 @@ func TestP33_3Batch(t *testing.T) {
 		if l, at, e := v.Batch(x.rev, x.l, x.quantum, 100); e != x.e || at != x.at || len(l) != 0 {
 			t.Error(i, at, e)
 		}
+	}
+	if l, _, e := v.Batch(2, []api.Query{a}, 1, 100); e != api.OK || len(l) != 1 || !l[0].Yes {
+		t.Error(e)
 	}
 	many := slices.Repeat([]api.Query{a}, 64)
 	if l, _, e := v.Batch(0, many, 1, 5); e != api.OK || len(l) != 64 || l[63].E != api.ErrBudget || l[63].Cost != 5 || l[0].Rev != 3 {

@@ -68,7 +68,7 @@ func TestP39_1Check(t *testing.T) {
 		{func(x *Table) { x.Next = -1 }, api.ErrRange}, {func(x *Table) { x.Next = 1 << 31 }, api.ErrRange}, {func(x *Table) { x.Next = 2 }, api.ErrRange}, {func(x *Table) { x.Flights[0].Items = make([]Item, 1023) }, api.ErrLimit}, {func(x *Table) { x.Flights[0].ID = -1 }, api.ErrRange}, {func(x *Table) { x.Flights[0].Rev = 0 }, api.ErrRange}, {func(x *Table) { x.Flights[0].Since = -1 }, api.ErrRange}, {func(x *Table) { x.Flights[0].Since = 1<<62 + 1 }, api.ErrRange},
 		{func(x *Table) { x.Flights[0].Version = 1<<20 + 1 }, api.ErrRange}, {func(x *Table) { x.Flights[0].Version = -1 }, api.ErrRange}, {func(x *Table) { x.Flights[0].Spent = 1<<20 + 1 }, api.ErrRange}, {func(x *Table) { x.Flights[0].Spent = -1 }, api.ErrRange}, {func(x *Table) { x.Flights[1].ID = 0 }, api.ErrOrder}, {func(x *Table) { x.Flights[1].Since = 4 }, api.ErrOrder}, {func(x *Table) { x.Flights[1].ID = 0; x.Flights[1].Query.Kind = 0 }, api.ErrOrder},
 		{func(x *Table) { x.Flights[1].Query.Kind = 3 }, api.ErrKind}, {func(x *Table) { x.Flights[1].Query.Goal.Rel = "" }, api.ErrName}, {func(x *Table) { x.Flights[1].Query.User.ID = "" }, api.ErrName}, {func(x *Table) { x.Flights[1].Query.Kind = 2 }, api.ErrForm}, {func(x *Table) { x.Flights[1].Items = nil }, api.ErrEmpty}, {func(x *Table) { x.Flights[1].Items[0].Ticket = -1 }, api.ErrRange}, {func(x *Table) { x.Flights[1].Items[0].Ticket = 1 << 31 }, api.ErrRange},
-		{func(x *Table) { x.Flights[1].Items[0].Item = 8 }, api.ErrRange}, {func(x *Table) { x.Flights[1].Items[0].Rev = 0 }, api.ErrRange}, {func(x *Table) { x.Flights[1].Items[0].Rev = 9 }, 0}, {func(x *Table) { x.Flights[0].Items[1].Class = 8 }, api.ErrRange}, {func(x *Table) { x.Flights[0].Items[1].Client = 16 }, api.ErrRange}, {func(x *Table) { x.Flights[0].Client = 3 }, api.ErrRange}, {func(x *Table) { x.Flights[0].Class = 2 }, api.ErrRange}, {func(x *Table) { x.Flights[0].Class = 0 }, api.ErrRange},
+		{func(x *Table) { x.Flights[1].Items[0].Item = 8 }, api.ErrRange}, {func(x *Table) { x.Flights[1].Items[0].Rev = 0 }, api.ErrRange}, {func(x *Table) { x.Flights[1].Items[0].Rev = 9 }, 0}, {func(x *Table) { x.Flights[0].Items[1].Class = 8 }, api.ErrRange}, {func(x *Table) { x.Flights[0].Items[1].Client = 16 }, api.ErrRange}, {func(x *Table) { x.Flights[0].Items[1].Client = 15 }, 0}, {func(x *Table) { x.Flights[0].Items[0].Class = 8 }, api.ErrRange}, {func(x *Table) { x.Flights[0].Items[0].Class = 7 }, 0}, {func(x *Table) { x.Flights[2].Since = 1 << 62 }, 0}, {func(x *Table) { x.Flights[0].Items[0].Ticket = 1<<31 - 1 }, 0}, {func(x *Table) { x.Flights[0].Client = 3 }, api.ErrRange}, {func(x *Table) { x.Flights[0].Class = 2 }, api.ErrRange}, {func(x *Table) { x.Flights[0].Class = 0 }, api.ErrRange},
 		{func(x *Table) { x.Flights[1].Rev = 1 }, api.ErrTwice}, {func(x *Table) { x.Flights[0].Items = nil; x.Flights[1].ID = 0 }, api.ErrEmpty},
 	} {
 		x := twin(sample(t))
@@ -147,6 +147,9 @@ func TestP39_3FindCommitLand(t *testing.T) {
 	_, _, e1 = Land(z, 0)
 	_, e2 = Find(z, 0)
 	_, e3 = Commit(z, 0, -1)
+	if n, e := Waiting(z, 99); n != 0 || e != api.ErrRange {
+		t.Error(n, e)
+	}
 	if e1 != api.ErrNone || e2 != api.ErrNone || e3 != api.ErrNone {
 		t.Error(e1, e2, e3)
 	}
@@ -192,6 +195,9 @@ func TestP39_4WaitingPinsQueue(t *testing.T) {
 		}
 	}
 	for rev := uint64(10); rev < 72; rev++ {
+		if q, e := Queue(x, 0); e != api.OK || len(q.Entries) != int(rev)-7 {
+			t.Error(rev, e)
+		}
 		x, _, _ = join(t, x, a, rev, [4]int{1, 0, 0, 0}, 9)
 	}
 	if _, e := Queue(x, 0); e != api.ErrLimit {

@@ -37,6 +37,12 @@ func TestP37_1OfCheck(t *testing.T) {
 	if g, e := Of(api.Client{Rate: 2, Burst: 4, Weight: 99}, 1, 5); e != api.OK || !g.Early || g.Bucket.Burst != 4 {
 		t.Error(g, e)
 	}
+	if g, e := Of(api.Client{Rate: 2, Burst: 4}, 64, 6); e != api.OK || g.Early || g.Bucket.Burst != 4 || g.Cap != 64 || Check(g) != api.OK {
+		t.Error(g, e)
+	}
+	if g, e := Of(api.Client{Rate: 2, Burst: 4}, 1, 0); e != api.OK || Check(g) != api.OK {
+		t.Error(g, e)
+	}
 	for i, x := range []struct {
 		c    api.Client
 		most int
@@ -82,6 +88,12 @@ func TestP37_2Ask(t *testing.T) {
 	early := g
 	early.Early = true
 	if _, v := ask(t, early, 0, 4, 2); v != (Verdict{false, 1}) {
+		t.Error(v)
+	}
+	if _, v := ask(t, early, 0, 2, 2); v != (Verdict{false, 0}) {
+		t.Error(v)
+	}
+	if _, v := ask(t, gate(t), 0, 1, 64); v != (Verdict{false, 0}) {
 		t.Error(v)
 	}
 	if _, v := ask(t, early, 0, 5, 2); v != (Verdict{false, -1}) {
@@ -132,6 +144,9 @@ func TestP37_4Retry(t *testing.T) {
 	}
 	if _, v, _ := Retry(gate(t), 0, 2, 2); !v.Admitted {
 		t.Error(v)
+	}
+	if h, v, e := Retry(g, 0, 1, 1); e != api.OK || !v.Admitted || h.Waiting != 1 || h.Bucket.Last != 0 {
+		t.Error("no room alone", h, v, e)
 	}
 	g.Bucket.Last = 1 << 62
 	if _, _, e := Retry(g, 1<<62, 4, 1); e != api.ErrRange {

@@ -110,6 +110,9 @@ func TestP40_4EligibleTake(t *testing.T) {
 	if ids, e := Eligible(l, 0, all, 0); len(ids) != 0 || e != api.OK {
 		t.Error(ids, e)
 	}
+	if ids, e := Eligible(l, 1, make([]Flight, 4096), 0); len(ids) != 4096 || e != api.OK {
+		t.Error(len(ids), e)
+	}
 	if _, e := Eligible(l, 1, make([]Flight, 4097), 0); e != api.ErrLimit {
 		t.Error(e)
 	}

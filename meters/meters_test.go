@@ -129,6 +129,13 @@ func TestP30_2TurnFinish(t *testing.T) {
 		if again, e := Finish(w, end); e != api.OK || again.Quanta != quanta {
 			t.Error(e)
 		}
+		if len(end.T.Truth.Ranks) > 0 {
+			same, _ := Turn(w, end)
+			again, _ := Finish(w, end)
+			if same.T.Truth.Ranks[0], again.T.Truth.Ranks[0] = -1, -1; end.T.Truth.Ranks[0] == -1 {
+				t.Error("shared")
+			}
+		}
 		if same, e := Turn(w, end); e != api.ErrState || same.Quanta != quanta {
 			t.Error(e)
 		}

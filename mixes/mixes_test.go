@@ -137,6 +137,14 @@ func TestP31_2TurnPlay(t *testing.T) {
 	if e != api.OK || !slices.Equal(costs(x), []int{0, 5, 0}) || !slices.Equal(costs(m), []int{0, 0, 0}) {
 		t.Error(costs(x), e)
 	}
+	if x, e := Turn(w, m, 0); e != api.OK || !slices.Equal(costs(x), []int{5, 0, 0}) {
+		t.Error(e)
+	}
+	done, _, _ := Finish(w, m)
+	twin, _ := Turn(w, done, 0)
+	if twin.List[1].T.Truth.Ranks[0], twin.Order[0] = -1, 9; done.List[1].T.Truth.Ranks[0] == -1 || done.Order[0] == 9 {
+		t.Error("shared")
+	}
 	for _, i := range []int{-1, 3} {
 		if x, e := Turn(w, m, i); e != api.ErrRange || len(x.List) != 3 {
 			t.Error(e)

@@ -3,11 +3,16 @@ package mutants
 import (
 	"math/rand"
 	"slices"
+	"strconv"
+	"strings"
 	"testing"
 
 	"countersign/api"
 	"countersign/audits"
+	"countersign/names"
+	"countersign/requests"
 	"countersign/scripts"
+	"countersign/tuples"
 )
 
 func script(t *testing.T, flaw uint8) scripts.Script {
@@ -35,6 +40,43 @@ func TestP44_1Script(t *testing.T) {
 	want := "config 5 2 1 1 3 0 0\nclient 1 1 6\nschema 5\nnamespace user {\n}\nnamespace doc {\n  relation viewer: [user];\n}\narrive 0 010000010103646f6301780676696577657204757365720161000000000000000000\narrive 0 02000000000103646f6301780676696577657204757365720161000000000000000000\ncollect 1\n"
 	if text != want {
 		t.Error(text)
+	}
+}
+
+// told says in words what the events of a script are.
+func told(t *testing.T, s scripts.Script) string {
+	t.Helper()
+	var out []string
+	for _, x := range s.Events {
+		word := strconv.Itoa(int(x.Kind)) + "." + strconv.Itoa(x.Lane) + "." + strconv.Itoa(int(x.N))
+		if x.Kind == api.Arrive {
+			r, _, e := requests.Decode(x.Bytes)
+			if e != api.OK || x.Client != 0 || r.Rev != 0 || len(r.Musts) > 0 || r.Filter != (api.Filter{}) {
+				t.Fatal(r, e)
+			}
+			switch {
+			case r.Kind == api.Ask && len(r.Items) == 1 && r.Items[0].Kind == api.Check && names.GoalText(r.Items[0].Goal) == "doc:x#viewer":
+				word = "ask " + names.Text(r.Items[0].User) + " " + strconv.Itoa(int(r.Class))
+			case r.Kind == api.Write && len(r.Changes) == 1 && !r.Changes[0].Drop:
+				word = "write " + tuples.Text(r.Changes[0].Tuple)
+			case r.Kind == api.Read:
+				word = "read"
+			}
+		}
+		out = append(out, word)
+	}
+	return strings.Join(out, ", ")
+}
+
+func TestP44_1Events(t *testing.T) {
+	const a, write, read = "ask user:a 0", "write doc:x#viewer@user:a", "read, read, read, read, read, read, read"
+	for flaw, want := range map[uint8]string{
+		1: write + ", " + a + ", 3.0.0, 3.1.0, 3.0.0, 3.1.0, 3.0.0, 3.0.0", 2: a + ", " + write + ", " + a + ", 3.0.0, 3.0.0, 3.0.0, 3.0.0", 3: "2.0.1, " + read, 4: a + ", " + write + ", 7.0.1", 5: read,
+		6: a + ", ask user:b 1, ask user:c 0, 3.0.0, 3.0.0, 3.0.0, 3.0.0, 3.0.0",
+	} {
+		if got := told(t, script(t, flaw)); got != want {
+			t.Error(flaw, got)
+		}
 	}
 }
 

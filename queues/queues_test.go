@@ -97,7 +97,10 @@ func TestP35_3EffectiveRipe(t *testing.T) {
 	if n, e := Ripe(Entry{3, 7, 1 << 62}, 64); n != 1<<62+448 || e != api.OK {
 		t.Error(n, e)
 	}
-	_, e1 := Ripe(Entry{3, 8, 0}, 4)
+	n, e1 := Ripe(Entry{3, 8, 0}, 4)
+	if n != 0 {
+		t.Error(n)
+	}
 	_, e2 := Ripe(Entry{3, 2, 0}, 0)
 	_, e3 := Ripe(Entry{3, 2, 0}, 65)
 	if e1 != api.ErrRange || e2 != api.ErrRange || e3 != api.ErrRange {
@@ -121,7 +124,7 @@ func TestP35_4OrderPick(t *testing.T) {
 		if e != x.e || !slices.Equal(l, x.want) || cap(l) != len(l) {
 			t.Error(i, l, e)
 		}
-		if _, _, e := Pick(x.q, x.round, x.age, x.want); e != x.e {
+		if id, _, e := Pick(x.q, x.round, x.age, x.want); e != x.e || e != api.OK && id != 0 {
 			t.Error(i, e)
 		}
 	}

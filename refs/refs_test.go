@@ -143,6 +143,15 @@ func TestP24_3LeavesRefs(t *testing.T) {
 			t.Error(l[i])
 		}
 	}
+	other, _, _ := parsers.Parse("namespace user {} namespace doc { relation p: [doc, user, doc#v]; relation v: [user] = this | p->v; }")
+	o, e := New(other, set(t, "doc:a#p@doc:b doc:a#p@doc:c#v doc:a#p@user:a doc:a#p@doc:d doc:a#v@user:a doc:a#v@user:b"))
+	if e != api.OK {
+		t.Fatal(e)
+	}
+	l, _ = o.Leaves(goal(t, "doc:a#v"))
+	if texts(l[1].Goals) != "doc:b#v doc:d#v" || len(l[0].Users) != 2 || cap(l[0].Users) != 2 || cap(l[1].Goals) != 2 {
+		t.Error(l)
+	}
 	r, e := world(t, facts).Refs(goal(t, "doc:x#viewer"))
 	if e != api.OK || texts(r) != "group:g#member doc:x#owner folder:f#viewer doc:x#banned" || cap(r) != 4 {
 		t.Error(r, e)

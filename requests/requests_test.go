@@ -120,6 +120,12 @@ func TestP38_2RightUnits(t *testing.T) {
 			t.Error(i, "a schema that is not closed")
 		}
 	}
+	if e := Right(s, 1, api.Request{Kind: 2, Musts: slices.Repeat(must(tuple), 32), Changes: slices.Repeat(change(tuple), 32)}); e != api.OK {
+		t.Error("the most musts and changes", e)
+	}
+	if e := Right(s, 1, ask(slices.Repeat([]api.Query{check}, 8)...)); e != api.OK {
+		t.Error("the most items", e)
+	}
 	if e := Right(parsedSchema(t, "namespace doc { relation viewer: [doc] = this - viewer; }"), 1, ask(check)); e != api.OK {
 		t.Error("a closed schema is enough", e)
 	}
@@ -151,7 +157,7 @@ func TestP38_3Replies(t *testing.T) {
 		b  []byte
 		at int
 		e  api.Errno
-	}{{b, 0, 0}, {b[:18], 18, api.ErrShort}, {append(slices.Clone(b), 0), 19, api.ErrForm}, {make([]byte, 1<<20+1), 0, api.ErrLimit}, {[]byte{0, 0, 0, 1, 0, 0, 129, 32}, 6, api.ErrLimit}, {[]byte{0, 0, 0, 1, 0, 0, 0, 129, 32}, 7, api.ErrLimit}} {
+	}{{b, 0, 0}, {b[:18], 18, api.ErrShort}, {append(slices.Clone(b), 0), 19, api.ErrForm}, {make([]byte, 1<<20+1), 0, api.ErrLimit}, {make([]byte, 1<<20), 9, api.ErrForm}, {[]byte{0, 0, 0, 1, 0, 0, 129, 32}, 6, api.ErrLimit}, {[]byte{0, 0, 0, 1, 0, 0, 0, 129, 32}, 7, api.ErrLimit}} {
 		if r, at, e := DecodeReply(x.b); at != x.at || e != x.e || e != api.OK && !SameReply(r, api.Reply{}) {
 			t.Error(i, at, e)
 		}
@@ -201,6 +207,14 @@ func TestP38_4CheckReplyTextParse(t *testing.T) {
 			t.Error(i, e)
 		}
 	}
+	most := api.Reply{Kind: 2}
+	for i := range 4096 {
+		most.Users = append(most.Users, api.Object{Space: "u", ID: strconv.Itoa(10000 + i)})
+	}
+	s, e := Text(most)
+	if back, e2 := Parse(s); e != api.OK || e2 != api.OK || !SameReply(back, most) || cap(back.Users) != 4096 {
+		t.Error(e, e2)
+	}
 	for _, s := range []string{"", "3.1 2 answer 7 maybe", "03.1 2 answer 7 yes", "0.0 1 listed 2 c:d a:b", "3.1 2 answer 7", "3.1 2 answer 7 yes ", " 3.1 2 answer 7 yes", "3.1  2 answer 7 yes", "3.1 2 Answer 7 yes", "3.1 2  7 yes", "+3.1 2 answer 7 yes", "3.1 2 answer 7 yes no", "3 2 answer 7 yes", "3.1.1 2 answer 7 yes", "3.1 2 answer 18446744073709551616 yes", "5.0 0 shed 0", "5.0 0 shed 0 -2", "5.0 0 shed 0 1 1", "0.0 1 listed 2 a:b ", "0.0 0 told 3 x", "0.0 0 wrote 3 3", "3.1 2 answer 7 yes\n", "x.y z answer 1 no", strings.Repeat(" ", 1<<20+1)} {
 		if r, e := Parse(s); e != api.ErrForm || !SameReply(r, api.Reply{}) {
 			t.Error(s, e)
@@ -223,6 +237,23 @@ func TestP38_5Same(t *testing.T) {
 			if SameReply(all[a], all[b]) != (a == b) {
 				t.Error(a, b)
 			}
+		}
+	}
+	for i, change := range []func(r *api.Request){
+		func(r *api.Request) { r.Kind++ }, func(r *api.Request) { r.Class++ }, func(r *api.Request) { r.Rev++ }, func(r *api.Request) { r.Items = []api.Query{check} }, func(r *api.Request) { r.Musts = make([]api.Must, 1) }, func(r *api.Request) { r.Changes = make([]api.Change, 1) }, func(r *api.Request) { r.Filter.Exact = true },
+	} {
+		r := some()[4]
+		r.Musts, r.Changes = slices.Clone(r.Musts), slices.Clone(r.Changes)
+		if change(&r); Same(r, some()[4]) {
+			t.Error(i)
+		}
+	}
+	for i, change := range []func(r *api.Reply){
+		func(r *api.Reply) { r.Ticket++ }, func(r *api.Reply) { r.Item++ }, func(r *api.Reply) { r.Client++ }, func(r *api.Reply) { r.Kind++ }, func(r *api.Reply) { r.Rev++ }, func(r *api.Reply) { r.Yes = true }, func(r *api.Reply) { r.Users = []api.Object{user} }, func(r *api.Reply) { r.Tuples = []api.Tuple{tuple} }, func(r *api.Reply) { r.After++ },
+	} {
+		var r api.Reply
+		if change(&r); SameReply(r, api.Reply{}) {
+			t.Error(i)
 		}
 	}
 	if !Same(api.Request{}, api.Request{Items: []api.Query{}, Musts: []api.Must{}}) || !SameReply(api.Reply{}, api.Reply{Users: []api.Object{}, Tuples: []api.Tuple{}}) {

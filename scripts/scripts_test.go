@@ -37,7 +37,7 @@ func TestP42_1Check(t *testing.T) {
 		e api.Errno
 	}{
 		{api.Event{}, api.ErrKind}, {api.Event{Kind: 8, N: 5}, api.ErrKind}, {api.Event{Kind: api.Arrive, N: 1, Client: 99}, api.ErrForm}, {api.Event{Kind: api.Arrive, Lane: 1}, api.ErrForm}, {api.Event{Kind: api.Arrive, Client: 15}, 0}, {api.Event{Kind: api.Arrive, Client: 16, Bytes: make([]byte, 65537)}, api.ErrRange}, {api.Event{Kind: api.Arrive, Client: -1}, api.ErrRange}, {api.Event{Kind: api.Arrive, Bytes: make([]byte, 65537)}, api.ErrLimit}, {api.Event{Kind: api.Arrive, Bytes: make([]byte, 65536)}, 0},
-		{api.Event{Kind: api.Tick}, api.ErrRange}, {api.Event{Kind: api.Tick, N: 1 << 62}, 0}, {api.Event{Kind: api.Tick, N: 1<<62 + 1}, api.ErrRange}, {api.Event{Kind: api.Collect, N: 1 << 62}, 0}, {api.Event{Kind: api.Collect}, api.ErrRange}, {api.Event{Kind: api.Work, Lane: 2}, api.ErrRange}, {api.Event{Kind: api.Stall, Lane: -1}, api.ErrRange}, {api.Event{Kind: api.Resume, N: 1}, api.ErrForm}, {api.Event{Kind: api.Drain, Lane: 1}, api.ErrForm}, {api.Event{Kind: api.Drain, Bytes: []byte{0}}, api.ErrForm}, {api.Event{Kind: api.Work, Client: 1}, api.ErrForm},
+		{api.Event{Kind: api.Tick}, api.ErrRange}, {api.Event{Kind: api.Tick, N: 1 << 62}, 0}, {api.Event{Kind: api.Tick, N: 1}, 0}, {api.Event{Kind: api.Collect, N: 1}, 0}, {api.Event{Kind: api.Tick, N: 1<<62 + 1}, api.ErrRange}, {api.Event{Kind: api.Collect, N: 1 << 62}, 0}, {api.Event{Kind: api.Collect}, api.ErrRange}, {api.Event{Kind: api.Work, Lane: 2}, api.ErrRange}, {api.Event{Kind: api.Stall, Lane: -1}, api.ErrRange}, {api.Event{Kind: api.Resume, N: 1}, api.ErrForm}, {api.Event{Kind: api.Drain, Lane: 1}, api.ErrForm}, {api.Event{Kind: api.Drain, Bytes: []byte{0}}, api.ErrForm}, {api.Event{Kind: api.Work, Client: 1}, api.ErrForm},
 	} {
 		s := sample()
 		s.Events = append(s.Events, x.x)
@@ -53,6 +53,9 @@ func TestP42_1Check(t *testing.T) {
 		}
 	}
 	s := sample()
+	if s.Events = slices.Repeat([]api.Event{{Kind: api.Drain}}, 4096); Check(s) != api.OK {
+		t.Error("the most events")
+	}
 	s.Events = make([]api.Event, 4097)
 	if Check(s) != api.ErrLimit {
 		t.Error("too many events")
@@ -118,6 +121,18 @@ func TestP42_4SameCutWithout(t *testing.T) {
 	} {
 		s := sample()
 		if change(&s); Same(s, sample()) || !Same(s, s) {
+			t.Error(i)
+		}
+	}
+	rule := func() api.Rule {
+		return api.Rule{Kind: api.Union, Rel: "a", To: "b", Args: []api.Rule{{Kind: api.This}}}
+	}
+	relation := func() Script {
+		return Script{Schema: api.Schema{Spaces: []api.Space{{Name: "a", Relations: []api.Relation{{Name: "b", Types: []api.Type{{Space: "x"}}, Rule: rule()}}}}}}
+	}
+	for i, change := range []func(r *api.Relation){func(r *api.Relation) { r.Name = "c" }, func(r *api.Relation) { r.Types[0].Rel = "c" }, func(r *api.Relation) { r.Types = nil }, func(r *api.Relation) { r.Rule.Kind++ }, func(r *api.Relation) { r.Rule.Rel = "c" }, func(r *api.Relation) { r.Rule.To = "c" }, func(r *api.Relation) { r.Rule.Args[0].Kind++ }, func(r *api.Relation) { r.Rule.Args = nil }} {
+		s := relation()
+		if change(&s.Schema.Spaces[0].Relations[0]); Same(s, relation()) || !Same(relation(), relation()) {
 			t.Error(i)
 		}
 	}

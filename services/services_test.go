@@ -129,6 +129,11 @@ func TestP41_1CheckNew(t *testing.T) {
 	if Check(config()) != api.OK {
 		t.Error("a valid configuration")
 	}
+	least := api.Config{Clients: []api.Client{{Weight: 1, Burst: 1}}, Cap: 1, Classes: 1, Age: 1, Quantum: 1, Budget: 1}
+	most := api.Config{Clients: slices.Repeat([]api.Client{{Weight: 8, Rate: 1 << 31, Burst: 1 << 31}}, 16), Cap: 64, Classes: 8, Age: 64, Quantum: 65536, Budget: 1 << 20, Hedge: 64, Flaw: 6}
+	if Check(least) != api.OK || Check(most) != api.OK {
+		t.Error("the least and the most")
+	}
 	for i, change := range []func(c *api.Config){
 		func(c *api.Config) { c.Clients = nil }, func(c *api.Config) { c.Clients = slices.Repeat(c.Clients, 9) }, func(c *api.Config) { c.Clients[1].Weight = 0 }, func(c *api.Config) { c.Clients[1].Weight = 9 }, func(c *api.Config) { c.Clients[1].Rate = -1 }, func(c *api.Config) { c.Clients[1].Burst = 0 }, func(c *api.Config) { c.Cap = 0 }, func(c *api.Config) { c.Cap = 65 }, func(c *api.Config) { c.Classes = 0 }, func(c *api.Config) { c.Classes = 9 },
 		func(c *api.Config) { c.Age = 0 }, func(c *api.Config) { c.Age = 65 }, func(c *api.Config) { c.Quantum = 0 }, func(c *api.Config) { c.Quantum = 65537 }, func(c *api.Config) { c.Budget = 0 }, func(c *api.Config) { c.Budget = 1<<20 + 1 }, func(c *api.Config) { c.Hedge = -1 }, func(c *api.Config) { c.Hedge = 65 }, func(c *api.Config) { c.Flaw = 7 },
@@ -185,6 +190,12 @@ func TestP41_2Do(t *testing.T) {
 		t.Error(e)
 	}
 	if _, e := v.Do(api.Event{Kind: api.Stall, Lane: 1}); e != api.ErrState {
+		t.Error(e)
+	}
+	if r, e := service(t, config(), small).Do(api.Event{Kind: api.Arrive, Bytes: make([]byte, 65536)}); e != api.OK || texts(t, r) != "0.0 0 malformed 0" {
+		t.Error(r, e)
+	}
+	if _, e := service(t, config(), small).Do(api.Event{Kind: api.Collect, N: 1024}); e != api.OK {
 		t.Error(e)
 	}
 	if r, e := service(t, config(), small).Do(api.Event{Kind: api.Drain}); e != api.OK || texts(t, r) != "-1.0 -1 drained 0" {

@@ -131,7 +131,7 @@ func TestP26_1LevelsNewCheck(t *testing.T) {
 	}{
 		{func(s *State[bool]) { s.Values = s.Values[:4] }, api.ErrState}, {func(s *State[bool]) { s.Ranks = append(s.Ranks, 0) }, api.ErrState}, {func(s *State[bool]) { s.Level = 3 }, api.ErrState}, {func(s *State[bool]) { s.Level = -1 }, api.ErrState}, {func(s *State[bool]) { s.Level = 2 }, 0},
 		{func(s *State[bool]) { s.Level, s.Changed = 2, true }, api.ErrState}, {func(s *State[bool]) { s.Level, s.At = 2, 1 }, api.ErrState}, {func(s *State[bool]) { s.At = 4 }, api.ErrState}, {func(s *State[bool]) { s.At, s.Changed = 3, true }, 0}, {func(s *State[bool]) { s.At = -1 }, api.ErrState},
-		{func(s *State[bool]) { s.Level, s.At = 1, 1 }, api.ErrState}, {func(s *State[bool]) { s.Steps = -1 }, api.ErrState}, {func(s *State[bool]) { s.Steps = 1<<62 + 1 }, api.ErrState}, {func(s *State[bool]) { s.Ranks[1] = 1 }, api.ErrState}, {func(s *State[bool]) { s.Ranks[1], s.Steps = 1, 1 }, 0}, {func(s *State[bool]) { s.Ranks[1] = -1 }, api.ErrState},
+		{func(s *State[bool]) { s.Level, s.At = 1, 1 }, api.ErrState}, {func(s *State[bool]) { s.Steps = -1 }, api.ErrState}, {func(s *State[bool]) { s.Steps = 1<<62 + 1 }, api.ErrState}, {func(s *State[bool]) { s.Steps = 1 << 62 }, 0}, {func(s *State[bool]) { s.Ranks[1] = 1 }, api.ErrState}, {func(s *State[bool]) { s.Ranks[1], s.Steps = 1, 1 }, 0}, {func(s *State[bool]) { s.Ranks[1] = -1 }, api.ErrState},
 	} {
 		x := twin(s)
 		c.change(&x)
@@ -161,11 +161,11 @@ func TestP26_2StepDone(t *testing.T) {
 	if y, n, e := Step[bool](user("a"), w, x, 5); n != 0 || e != api.OK || !same(x, y) {
 		t.Error("a state that is done")
 	}
-	y, _, e := Step[bool](user("a"), w, s, -1)
-	if y.Values[0] = true; e != api.ErrArg || s.Values[0] {
+	y, n, e := Step[bool](user("a"), w, s, -1)
+	if y.Values[0] = true; e != api.ErrArg || n != 0 || s.Values[0] {
 		t.Error(e)
 	}
-	if _, _, e := Step[bool](nil, w, s, 1); e != api.ErrNil {
+	if _, n, e := Step[bool](nil, w, s, 1); e != api.ErrNil || n != 0 {
 		t.Error(e)
 	}
 	if _, _, e := Step[bool](nil, w, State[bool]{}, 1); e != api.ErrState {

@@ -157,7 +157,7 @@ func TestP28_2CheckStep(t *testing.T) {
 	}{
 		{early, func(x *Traversal) { x.Query.Kind = 0 }, api.ErrKind}, {early, func(x *Traversal) { x.Query.Goal.Rel = "owner" }, api.ErrState}, {early, func(x *Traversal) { x.Search.Ref = 9 }, api.ErrState}, {early, func(x *Traversal) { x.Truth = end.Truth }, api.ErrState}, {early, func(x *Traversal) { x.Sweep.At = 1 }, api.ErrState}, {early, func(x *Traversal) { x.Over = true }, api.ErrState},
 		{early, func(x *Traversal) { x.Truth.Values = []bool{} }, 0}, {end, func(x *Traversal) { x.Over = false }, api.ErrState}, {x, func(x *Traversal) { x.Over = true }, api.ErrState}, {end, func(x *Traversal) { x.Sweep.Changed = true }, api.ErrState}, {end, func(x *Traversal) { x.Sweep.Table = x.Search.Table }, api.ErrState}, {end, func(x *Traversal) { x.Truth.At = 1 }, api.ErrState},
-		{end, func(x *Traversal) { x.Search.Steps = 1 << 62 }, api.ErrState}, {end, func(x *Traversal) { x.Search.Steps = 1<<62 - 10 }, 0}, {end, func(x *Traversal) { x.Search.Steps, x.Truth.Steps = 1<<62, 1<<62 }, api.ErrState}, {other, func(x *Traversal) { x.Sweep.Values[0] = []api.Object{{Space: "b"}, {Space: "a"}} }, api.ErrState}, {other, func(x *Traversal) { x.Sweep.Values[0] = []api.Object{{Space: "a"}, {Space: "b"}} }, 0},
+		{end, func(x *Traversal) { x.Search.Steps = 1 << 62 }, api.ErrState}, {end, func(x *Traversal) { x.Search.Steps = 1<<62 - 10 }, 0}, {end, func(x *Traversal) { x.Truth.Steps = 1 << 62 }, api.ErrState}, {end, func(x *Traversal) { x.Truth.Steps = 1<<62 - 9 }, 0}, {end, func(x *Traversal) { x.Search.Steps, x.Truth.Steps = 1<<62, 1<<62 }, api.ErrState}, {other, func(x *Traversal) { x.Sweep.Values[0] = []api.Object{{Space: "b"}, {Space: "a"}} }, api.ErrState}, {other, func(x *Traversal) { x.Sweep.Values[0] = []api.Object{{Space: "a"}, {Space: "b"}} }, 0},
 		{other, func(x *Traversal) { x.Query = q }, api.ErrState}, {other, func(x *Traversal) { x.Truth.Steps = 1 }, api.ErrState}, {end, func(x *Traversal) {
 			x.Truth, _ = solves.New[bool](w, after(t, w, check(t, "doc:x#owner", "a"), 1).Search.Table)
 		}, api.ErrState},
@@ -172,10 +172,20 @@ func TestP28_2CheckStep(t *testing.T) {
 			t.Error(i, n, e)
 		}
 	}
-	if _, _, e := Step(w, Traversal{}, -1); e != api.ErrArg {
+	if _, n, e := Step(w, Traversal{}, -1); e != api.ErrArg || n != 0 {
 		t.Error(e)
 	}
-	if z, _, e := Step(World{}, x, 5); e != api.ErrNil || !same(z, x) {
+	for _, k := range []int{-1, 0} {
+		y, _, _ := Step(w, x, k)
+		z, _, _ := Step(w, other, k)
+		if y.Truth.Values[0], z.Sweep.Values[0] = true, nil; len(z.Sweep.Ranks) > 0 {
+			z.Sweep.Ranks[0] = 99
+		}
+		if x.Truth.Values[0] || other.Sweep.Ranks[0] == 99 {
+			t.Error("shared")
+		}
+	}
+	if z, n, e := Step(World{}, x, 5); e != api.ErrNil || n != 0 || !same(z, x) {
 		t.Error(e)
 	}
 }

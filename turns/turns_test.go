@@ -69,11 +69,11 @@ func TestP36_2Next(t *testing.T) {
 	if y, client, found, e := Next(x, make([]bool, 3)); e != api.OK || client != 0 || found || !same(x, y) {
 		t.Error(y, e)
 	}
-	if y, _, found, e := Next(x, make([]bool, 2)); e != api.ErrArg || found || len(y.Weights) != 0 {
+	if y, client, found, e := Next(x, make([]bool, 2)); e != api.ErrArg || client != 0 || found || len(y.Weights) != 0 {
 		t.Error(e)
 	}
 	last := Turns{[]int{1, 1}, 1, 0, 1 << 62}
-	if _, _, _, e := Next(last, []bool{true, true}); e != api.ErrRange {
+	if _, client, _, e := Next(last, []bool{true, true}); e != api.ErrRange || client != 0 {
 		t.Error(e)
 	}
 	if y, _, found, e := Next(last, []bool{false, false}); e != api.OK || found || !same(y, last) {
@@ -86,7 +86,7 @@ func TestP36_2Next(t *testing.T) {
 	if y, client, _, _ := Next(Turns{[]int{3}, 0, 0, 5}, []bool{true}); client != 0 || !same(y, Turns{[]int{3}, 0, 2, 6}) {
 		t.Error(y)
 	}
-	if _, _, _, e := Next(Turns{}, nil); e != api.ErrRange {
+	if _, client, _, e := Next(Turns{}, nil); e != api.ErrRange || client != 0 {
 		t.Error(e)
 	}
 }
@@ -106,6 +106,11 @@ func TestP36_3Takes(t *testing.T) {
 		if e != api.OK || !slices.Equal(l, c.want) || !same(x, c.x) || cap(l) != len(l) {
 			t.Error(i, x, l, e)
 		}
+	}
+	own := sample(t)
+	none, _, _ := Takes(own, nil)
+	if none.Weights[0] = 9; own.Weights[0] != 2 {
+		t.Error("shared")
 	}
 	for i, c := range []struct {
 		x Turns
@@ -134,7 +139,7 @@ func TestP36_4ServedGap(t *testing.T) {
 	for i, c := range []struct {
 		v, n, w, m, want int
 		e                api.Errno
-	}{{2, 5, 1, 2, 1, 0}, {1, 2, 2, 5, 1, 0}, {8, 0, 8, 4096, 32768, 0}, {0, 1, 1, 1, 0, api.ErrRange}, {1, 1, 9, 1, 0, api.ErrRange}, {1, -1, 1, 1, 0, api.ErrRange}, {1, 1, 1, 4097, 0, api.ErrRange}} {
+	}{{2, 5, 1, 2, 1, 0}, {1, 2, 2, 5, 1, 0}, {8, 0, 8, 4096, 32768, 0}, {1, 5, 1, 0, 5, 0}, {0, 1, 1, 1, 0, api.ErrRange}, {1, 1, 9, 1, 0, api.ErrRange}, {1, -1, 1, 1, 0, api.ErrRange}, {1, 1, 1, 4097, 0, api.ErrRange}} {
 		if n, e := Gap(c.v, c.n, c.w, c.m); n != c.want || e != c.e {
 			t.Error(i, n, e)
 		}
