@@ -140,6 +140,9 @@ func TestP29_1OfCheck(t *testing.T) {
 	if Check(Cont{Query: api.Query{Kind: 1, Goal: api.Goal{Rel: name}, User: api.Object{Space: name, ID: name}}, Goals: make([]api.Goal, 131072)}) != api.OK {
 		t.Error("the longest texts, and the most goals")
 	}
+	if Check(Cont{Query: api.Query{Kind: 1}, Goals: make([]api.Goal, 131073)}) != api.ErrForm {
+		t.Error("too many goals")
+	}
 	if Check(Cont{Query: api.Query{Kind: 2}, Goals: make([]api.Goal, 1), Solving: true, Sets: [][]api.Object{make([]api.Object, 4096)}, Ranks: []int{0}}) != api.OK {
 		t.Error("the most objects")
 	}

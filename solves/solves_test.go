@@ -106,6 +106,9 @@ func TestP26_1LevelsNewCheck(t *testing.T) {
 	if l, e := Levels(w, x); e != api.OK || !equal(l, [][]int{{1, 2, 3, 4}, {0}}) {
 		t.Error(l, e)
 	}
+	if l, e := Levels(w, table(t, w, "doc:x#owner")); e != api.OK || !equal(l, [][]int{{0}}) || cap(l) != 1 {
+		t.Error("strata without goals", l, e)
+	}
 	s, e := New[bool](w, x)
 	if e != api.OK || len(s.Values) != 5 || len(s.Ranks) != 5 || s.Level != 0 || Check(w, s) != api.OK {
 		t.Error(s, e)
