@@ -112,6 +112,16 @@ func TestP42_3Parse(t *testing.T) {
 	if s, _, _ := Parse(full); !Same(s, sample()) {
 		t.Error(s)
 	}
+	others := sample()
+	others.Events = []api.Event{{Kind: api.Stall, Lane: 1}, {Kind: api.Resume}, {Kind: api.Collect, N: 1 << 62}}
+	if s, _, _ := Parse(head1 + "stall 1\nresume 0\ncollect 4611686018427387904\n"); !Same(s, others) {
+		t.Error(s)
+	}
+	for _, word := range []string{"", "Work", "wor", "works", "wait"} {
+		if s, line, e := Parse(head1 + word + " 0\n"); line != 6 || e != form || !equal(s, Script{}) {
+			t.Error(word, line, e)
+		}
+	}
 }
 
 func TestP42_4SameCutWithout(t *testing.T) {
